@@ -1,0 +1,82 @@
+// Package sample makes values for the project's tests: always the same ones for the same seed.
+package sample
+
+import (
+	"spinney/api"
+	"spinney/value"
+)
+
+// Source is where a test's values come from.
+type Source struct {
+	state uint64
+}
+
+// New is a source; sources of one seed tell the same.
+func New(seed uint64) *Source { return &Source{state: seed} }
+
+// Below is a number from 0 to n - 1.
+func (s *Source) Below(n int) int {
+	s.state = s.state*6364136223846793005 + 1442695040888963407
+	return int(s.state>>33) % n
+}
+
+// Value is a right value, at most deep levels deep. It comes from a small stock, so that equal ones are met often.
+func (s *Source) Value(deep int) api.Value {
+	kinds := api.VMap + 1
+	if deep == 0 {
+		kinds = api.VList
+	}
+	switch s.Below(kinds) {
+	case api.VBool:
+		return api.Value{Kind: api.VBool, Num: int64(s.Below(2))}
+	case api.VInt:
+		return api.Value{Kind: api.VInt, Num: s.number()}
+	case api.VStr:
+		return api.Value{Kind: api.VStr, Text: s.text()}
+	case api.VList:
+		v, _ := value.List(s.Values(s.Below(4), deep-1))
+		return v
+	case api.VSet:
+		v, _ := value.Set(s.Values(s.Below(4), deep-1))
+		return v
+	case api.VMap:
+		v, _ := value.Map(s.Pairs(s.Below(4), deep-1))
+		return v
+	}
+	return api.Value{}
+}
+
+// Values are n right values.
+func (s *Source) Values(n, deep int) []api.Value {
+	var out []api.Value
+	for range n {
+		out = append(out, s.Value(deep))
+	}
+	return out
+}
+
+// Pairs are n pairs of right values.
+func (s *Source) Pairs(n, deep int) []api.Pair {
+	var out []api.Pair
+	for range n {
+		out = append(out, api.Pair{Key: s.Value(deep), Val: s.Value(deep)})
+	}
+	return out
+}
+
+func (s *Source) number() int64 {
+	edges := [...]int64{-1 << 63, 1<<63 - 1, -1 << 31, 1 << 31, 100, -100}
+	if s.Below(8) == 0 {
+		return edges[s.Below(len(edges))]
+	}
+	return int64(s.Below(7) - 3)
+}
+
+func (s *Source) text() string {
+	letters := [...]string{"a", "b", " ", "\"", "\\", "\n", "\t", "\r", "\x00", "\x1f", "\x7f", ";", "é", "€", "𝄞", "\uFFFD"}
+	out := ""
+	for range s.Below(4) {
+		out += letters[s.Below(len(letters))]
+	}
+	return out
+}

@@ -25,3 +25,21 @@ func TestValuesAreRightAndTheSameAgain(t *testing.T) {
 		}
 	}
 }
+
+func TestWrongsAreWrong(t *testing.T) {
+	for _, v := range sample.Wrongs() {
+		if value.Check(v) != api.ErrValue {
+			t.Errorf("right: %v", v)
+		}
+	}
+}
+
+func TestMadeByHand(t *testing.T) {
+	for _, v := range []api.Value{
+		sample.Num(-1), sample.Bool(1), sample.Str("a"), sample.List(), sample.Set(sample.Numbers(3)...), sample.Map(sample.Num(1), sample.Str("a")), sample.Nested(api.MaxDeep, sample.Num(1)),
+	} {
+		if value.Check(v) != api.OK {
+			t.Errorf("not right: %v", v)
+		}
+	}
+}

@@ -2,38 +2,22 @@ package value
 
 import (
 	"slices"
-	"strings"
 
 	"spinney/api"
+	"spinney/rule"
 )
 
 // checkList tells what rule R1 finds wrong first in a list of values.
-func checkList(l []api.Value) api.Errno {
-	if len(l) > api.MaxLen {
-		return api.ErrLong
-	}
-	for _, v := range l {
-		if e := Check(v); e != api.OK {
-			return e
-		}
-	}
-	return api.OK
-}
+func checkList(l []api.Value) api.Errno { return rule.CheckAll(l, Check) }
 
 // checkPairs tells what rule R1 finds wrong first in a list of pairs.
-func checkPairs(l []api.Pair) api.Errno {
-	if len(l) > api.MaxLen {
-		return api.ErrLong
+func checkPairs(l []api.Pair) api.Errno { return rule.CheckAll(l, checkPair) }
+
+func checkPair(p api.Pair) api.Errno {
+	if e := Check(p.Key); e != api.OK {
+		return e
 	}
-	for _, p := range l {
-		if e := Check(p.Key); e != api.OK {
-			return e
-		}
-		if e := Check(p.Val); e != api.OK {
-			return e
-		}
-	}
-	return api.OK
+	return Check(p.Val)
 }
 
 // sorted is a list of its own, rising; what its members hold is still shared with l.
@@ -66,21 +50,5 @@ func made(kind int, items []api.Value) (api.Value, api.Errno) {
 	if !fits(v) {
 		return api.Value{}, api.ErrLong
 	}
-	return copyOf(v), api.OK
-}
-
-// copyOf is the same value in memory of its own, down to its last part.
-func copyOf(v api.Value) api.Value {
-	return api.Value{Kind: v.Kind, Num: v.Num, Text: strings.Clone(v.Text), Items: copyAll(v.Items)}
-}
-
-func copyAll(l []api.Value) []api.Value {
-	if len(l) == 0 {
-		return nil
-	}
-	out := make([]api.Value, len(l))
-	for i, v := range l {
-		out[i] = copyOf(v)
-	}
-	return out
+	return rule.Copy(v), api.OK
 }

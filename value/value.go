@@ -6,6 +6,7 @@ import (
 	"slices"
 
 	"spinney/api"
+	"spinney/rule"
 )
 
 // Check tells whether a value is right.
@@ -64,7 +65,7 @@ func Sort(l []api.Value) ([]api.Value, api.Errno) {
 	if e := checkList(l); e != api.OK {
 		return nil, e
 	}
-	return copyAll(sorted(l)), api.OK
+	return rule.CopyAll(sorted(l)), api.OK
 }
 
 // Parts is how many parts a value has, Deep how deep it is.
@@ -93,7 +94,7 @@ func Pairs(v api.Value) ([]api.Pair, api.Errno) {
 	}
 	var out []api.Pair
 	for i := 0; i < len(v.Items); i += 2 {
-		out = append(out, api.Pair{Key: copyOf(v.Items[i]), Val: copyOf(v.Items[i+1])})
+		out = append(out, api.Pair{Key: rule.Copy(v.Items[i]), Val: rule.Copy(v.Items[i+1])})
 	}
 	return out, api.OK
 }

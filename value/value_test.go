@@ -20,21 +20,11 @@ func list(items ...api.Value) api.Value       { return api.Value{Kind: api.VList
 func set(items ...api.Value) api.Value        { return api.Value{Kind: api.VSet, Items: items} }
 func dict(items ...api.Value) api.Value       { return api.Value{Kind: api.VMap, Items: items} }
 func pair(key, val api.Value) api.Pair        { return api.Pair{Key: key, Val: val} }
-func same(a, b api.Value) bool                { return reflect.DeepEqual(plain(a), plain(b)) }
-func sameAll(a, b []api.Value) bool           { return same(list(a...), list(b...)) }
+func same(a, b api.Value) bool                { return sample.Same(a, b) }
+func sameAll(a, b []api.Value) bool           { return sample.SameAll(a, b) }
 func zero(v api.Value) bool                   { return reflect.DeepEqual(v, api.Value{}) }
 func nested(n int, v api.Value) api.Value     { return wrapped(n, api.VList, v) }
 func repeated(n int, v api.Value) []api.Value { return slices.Repeat([]api.Value{v}, n) }
-
-// plain has nil for each empty list, so that reflect tells values apart as rule R2 does.
-func plain(v api.Value) api.Value {
-	out := v
-	out.Items = nil
-	for _, item := range v.Items {
-		out.Items = append(out.Items, plain(item))
-	}
-	return out
-}
 
 func wrapped(n, kind int, v api.Value) api.Value {
 	for range n {
@@ -441,56 +431,11 @@ func permutation(s *sample.Source, n int) []int {
 	return out
 }
 
-// roomy is the same value with room to spare behind each list, filled with what must stay.
-func roomy(v api.Value) api.Value {
-	out := v
-	if v.Items != nil {
-		out.Items = roomyAll(v.Items)
-	}
-	return out
-}
-
-func roomyAll(l []api.Value) []api.Value {
-	out := make([]api.Value, 0, len(l)+3)
-	for _, v := range l {
-		out = append(out, roomy(v))
-	}
-	room := out[len(out):cap(out)]
-	for i := range room {
-		room[i] = str("spare")
-	}
-	return out
-}
-
-// roomKept tells whether the spare room that roomy made is as it was.
-func roomKept(l []api.Value) bool {
-	for _, v := range l[len(l):cap(l)] {
-		if v.Text != "spare" {
-			return false
-		}
-	}
-	for _, v := range l {
-		if v.Items != nil && !roomKept(v.Items) {
-			return false
-		}
-	}
-	return true
-}
-
-// spoil writes over all memory that a list reaches, its spare room too.
-func spoil(l []api.Value) {
-	l = l[:cap(l)]
-	for i := range l {
-		spoil(l[i].Items)
-		l[i] = str("spoilt")
-	}
-}
-
 func TestArgumentsAreNotChangedAndNotKept(t *testing.T) {
-	part := roomyAll([]api.Value{num(3), num(4)})
+	part := sample.RoomyAll([]api.Value{num(3), num(4)})
 	shared := api.Value{Kind: api.VList, Items: part}
 	fresh := func() []api.Value {
-		return roomyAll([]api.Value{list(num(2), set(num(1), num(2))), dict(num(1), list(num(5))), num(9), list(), num(9)})
+		return sample.RoomyAll([]api.Value{list(num(2), set(num(1), num(2))), dict(num(1), list(num(5))), num(9), list(), num(9)})
 	}
 	for name, call := range map[string]func([]api.Value) ([]api.Value, api.Errno){
 		"Set":  func(l []api.Value) ([]api.Value, api.Errno) { v, e := value.Set(l); return v.Items, e },
@@ -507,16 +452,16 @@ func TestArgumentsAreNotChangedAndNotKept(t *testing.T) {
 	} {
 		in := fresh()
 		first, e := call(in)
-		if e != api.OK || !sameAll(in, fresh()) || !roomKept(in) {
+		if e != api.OK || !sameAll(in, fresh()) || !sample.RoomKept(in) {
 			t.Errorf("%s has changed its argument: %v", name, in)
 		}
-		want := plain(list(first...))
+		want := sample.Roomy(list(first...))
 		again, _ := call(in)
-		spoil(again)
+		sample.Spoil(again)
 		if !sameAll(in, fresh()) || !same(list(first...), want) {
 			t.Errorf("%s: answers share memory", name)
 		}
-		spoil(in)
+		sample.Spoil(in)
 		if !same(list(first...), want) {
 			t.Errorf("%s: an answer shares memory with its argument", name)
 		}
@@ -524,7 +469,7 @@ func TestArgumentsAreNotChangedAndNotKept(t *testing.T) {
 		if e != api.OK {
 			t.Errorf("%s: %v", name, e)
 		}
-		spoil(both[0].Items)
+		sample.Spoil(both[0].Items)
 		if !same(both[len(both)-1], list(num(2), shared)) || !sameAll(part, []api.Value{num(3), num(4)}) {
 			t.Errorf("%s: lists of one answer share memory", name)
 		}
@@ -558,18 +503,18 @@ func TestPairsShareNothing(t *testing.T) {
 	fresh := func() api.Value {
 		return dict(num(1), list(num(5)), num(2), list(part...), list(part...), list(part...))
 	}
-	v := roomy(fresh())
+	v := sample.Roomy(fresh())
 	v.Items[3].Items, v.Items[4].Items, v.Items[5].Items = part, part, part
 	got, e := value.Pairs(v)
-	if e != api.OK || len(got) != 3 || !same(v, fresh()) || !roomKept(v.Items) {
+	if e != api.OK || len(got) != 3 || !same(v, fresh()) || !sample.RoomKept(v.Items) {
 		t.Fatalf("Pairs: %v, %v", got, e)
 	}
-	spoil(got[1].Val.Items)
-	spoil(got[2].Key.Items)
+	sample.Spoil(got[1].Val.Items)
+	sample.Spoil(got[2].Key.Items)
 	if !same(v, fresh()) || !same(got[2].Val, list(num(3), num(4))) {
 		t.Errorf("Pairs share memory: %v", got)
 	}
-	spoil(v.Items)
+	sample.Spoil(v.Items)
 	if !same(got[2].Val, list(num(3), num(4))) || !same(got[0].Val, list(num(5))) {
 		t.Errorf("Pairs share memory with the map: %v", got)
 	}

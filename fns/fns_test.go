@@ -37,11 +37,6 @@ func short(v api.Value) string {
 	return s[:min(len(s), 80)]
 }
 
-// wrongNumbers are numbers of which there is no row in a table whose last row is that.
-func wrongNumbers(last int) []int {
-	return []int{-1, last + 1, last + 2, -last, 1 << 32, -1 << 32, math.MinInt, math.MaxInt}
-}
-
 // values are right values: each kind's edges, those at the limits, and some of no mark.
 func values() []api.Value {
 	out := []api.Value{
@@ -300,17 +295,17 @@ func TestWrongArguments(t *testing.T) {
 	all := append(sample.Wrongs(), num(1))
 	for i, v := range all {
 		isWrong := i < len(all)-1
-		for _, fn := range wrongNumbers(lastFn) {
+		for _, fn := range sample.Beyond(lastFn) {
 			checkOne(t, fn, v, api.ErrKind)
 			checkTimes(t, fn, 1, v, api.ErrKind)
 			for _, n := range ns {
 				checkTimes(t, fn, n, v, api.ErrKind)
 			}
 		}
-		for _, q := range wrongNumbers(lastIs) {
+		for _, q := range sample.Beyond(lastIs) {
 			checkIs(t, q, v, api.ErrKind)
 		}
-		for _, fn := range wrongNumbers(lastTwo) {
+		for _, fn := range sample.Beyond(lastTwo) {
 			checkTwo(t, fn, v, num(1), api.ErrKind)
 			checkTwo(t, fn, num(1), v, api.ErrKind)
 		}

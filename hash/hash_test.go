@@ -23,11 +23,6 @@ func list(items ...api.Value) api.Value { return sample.List(items...) }
 func set(items ...api.Value) api.Value  { return sample.Set(items...) }
 func dict(items ...api.Value) api.Value { return sample.Map(items...) }
 
-// wrongKinds are kinds that there are not.
-func wrongKinds() []int {
-	return []int{-1, 64, 65, -64, 1 << 32, -1 << 32, math.MinInt, math.MaxInt}
-}
-
 // edgeHashes are hashes at the ends of bits and groups, and some of no mark.
 func edgeHashes() []uint32 {
 	out := []uint32{0, 1, 31, 32, 1<<30 - 1, 1 << 30, 1<<31 - 1, 1 << 31, most - 1, most, 0x12345678, 0x9abcdef0, 0x55555555, 0xaaaaaaaa}
@@ -204,13 +199,13 @@ func TestWrongArguments(t *testing.T) {
 				t.Errorf("Of(%d, %v): %d, %v", kind, v, h, e)
 			}
 		}
-		for _, kind := range wrongKinds() {
+		for _, kind := range sample.Beyond(api.MaxHash) {
 			if h, e := hash.Of(kind, v); h != 0 || e != api.ErrKind {
 				t.Errorf("Of(%d, %v): %d, %v", kind, v, h, e)
 			}
 		}
 	}
-	for _, kind := range wrongKinds() {
+	for _, kind := range sample.Beyond(api.MaxHash) {
 		if h, e := hash.Of(kind, num(1)); h != 0 || e != api.ErrKind {
 			t.Errorf("Of(%d, 1): %d, %v", kind, h, e)
 		}
@@ -345,7 +340,7 @@ func TestBeforeOfWrongArguments(t *testing.T) {
 				}
 			}
 		}
-		for _, kind := range wrongKinds() {
+		for _, kind := range sample.Beyond(api.MaxHash) {
 			for _, c := range [][2]api.Value{{v, num(1)}, {num(1), v}, {v, v}, {num(1), num(2)}} {
 				if is, e := hash.Before(kind, c[0], c[1]); is || e != api.ErrKind {
 					t.Errorf("Before(%d, %v, %v): %v, %v", kind, c[0], c[1], is, e)

@@ -42,10 +42,6 @@ func short(x any) string {
 	return s[:min(len(s), 120)]
 }
 
-func wrongOrders() []int {
-	return []int{-1, api.MaxOrder + 1, -api.MaxOrder, 1 << 32, -1 << 32, math.MinInt, math.MaxInt}
-}
-
 // mixed are values of all kinds, rising in natural order.
 func mixed() []api.Value {
 	return []api.Value{
@@ -175,12 +171,7 @@ func TestOrdersAreTotal(t *testing.T) {
 
 // shuffled are the same values in another order.
 func shuffled(seed uint64, l []api.Value) []api.Value {
-	s, out := sample.New(seed), slices.Clone(l)
-	for i := range out {
-		k := s.Below(len(out))
-		out[i], out[k] = out[k], out[i]
-	}
-	return out
+	return sample.Shuffled(sample.New(seed), l)
 }
 
 // doubled has each value twice, one behind the other.
@@ -462,7 +453,7 @@ func TestWrongValues(t *testing.T) {
 			checkPlaceError(t, by, nil, w, api.ErrValue)
 			checkPlaceError(t, by, ints(1), w, api.ErrValue)
 		}
-		for _, by := range wrongOrders() {
+		for _, by := range sample.Beyond(api.MaxOrder) {
 			checkCompareError(t, by, w, num(1), api.ErrKind)
 			checkCompareError(t, by, num(1), w, api.ErrKind)
 			checkListErrors(t, by, []api.Value{w}, api.ErrKind)
@@ -473,7 +464,7 @@ func TestWrongValues(t *testing.T) {
 
 // R1: an order that there is not comes ahead of all else.
 func TestWrongOrders(t *testing.T) {
-	for _, by := range wrongOrders() {
+	for _, by := range sample.Beyond(api.MaxOrder) {
 		checkCompareError(t, by, num(1), num(2), api.ErrKind)
 		for _, l := range [][]api.Value{nil, {}, ints(1), ints(3, 1, 2), repeated(api.MaxLen+1, num(1))} {
 			checkListErrors(t, by, l, api.ErrKind)

@@ -1,7 +1,8 @@
-// Package rule is no layer: it holds what the document's rules ask of many layers alike (R1's looks at arguments, R3's new memory).
+// Package rule is no layer: it holds what the document's rules ask of many layers alike (R1's looks at arguments, R3's new memory), and how the last of several that are the same is taken.
 package rule
 
 import (
+	"slices"
 	"strings"
 
 	"spinney/api"
@@ -27,6 +28,31 @@ func CheckAll[T any](l []T, check func(T) api.Errno) api.Errno {
 		}
 	}
 	return api.OK
+}
+
+// CheckPairs tells likewise what is wrong first in a list of pairs: of each the key is looked at ahead of the value.
+func CheckPairs(l []api.Pair, check func(api.Value) api.Errno) api.Errno {
+	return CheckAll(l, func(p api.Pair) api.Errno {
+		if e := check(p.Key); e != api.OK {
+			return e
+		}
+		return check(p.Val)
+	})
+}
+
+// LastOfEach is a new list, sorted, that has of those that compare as the same the last one alone; its members still share with l what they hold.
+func LastOfEach[T any](l []T, compare func(a, b T) int) []T {
+	all := slices.Clone(l)
+	// Stable, so that the last of those that are the same stays last.
+	slices.SortStableFunc(all, compare)
+	var out []T
+	for i, member := range all {
+		if i+1 < len(all) && compare(member, all[i+1]) == 0 {
+			continue
+		}
+		out = append(out, member)
+	}
+	return out
 }
 
 // Copy is the same value in memory of its own, down to its last part.

@@ -1,7 +1,8 @@
 package rule_test
 
 import (
-	"math"
+	"slices"
+	"strconv"
 	"strings"
 	"testing"
 	"unsafe"
@@ -19,7 +20,7 @@ func TestRow(t *testing.T) {
 			t.Errorf("Row(%d): %q, %v", i, got, e)
 		}
 	}
-	for _, i := range []int{-1, 3, 4, 1 << 32, math.MinInt, math.MaxInt} {
+	for _, i := range sample.Beyond(2) {
 		if got, e := rule.Row(table, i); got != "" || e != api.ErrKind {
 			t.Errorf("Row(%d): %q, %v", i, got, e)
 		}
@@ -43,6 +44,46 @@ func TestCheckAll(t *testing.T) {
 		if e := rule.CheckAll(c.l, itself); e != c.want {
 			t.Errorf("CheckAll of %d: %v, want %v", len(c.l), e, c.want)
 		}
+	}
+}
+
+// R1: of each pair the key ahead of the value.
+func TestCheckPairs(t *testing.T) {
+	byNumber := func(v api.Value) api.Errno { return api.Errno(v.Num) }
+	pair := func(k, v int64) api.Pair { return api.Pair{Key: sample.Num(k), Val: sample.Num(v)} }
+	long := make([]api.Pair, api.MaxLen+1)
+	for _, c := range []struct {
+		l    []api.Pair
+		want api.Errno
+	}{
+		{nil, api.OK}, {[]api.Pair{}, api.OK}, {long[1:], api.OK}, {long, api.ErrLong}, {append(long[1:], pair(7, 8)), api.ErrLong},
+		{[]api.Pair{pair(0, 0), pair(5, 6), pair(7, 8)}, 5}, {[]api.Pair{pair(0, 6), pair(7, 8)}, 6}, {[]api.Pair{pair(0, 0), pair(0, 0), pair(0, 9)}, 9},
+	} {
+		if e := rule.CheckPairs(c.l, byNumber); e != c.want {
+			t.Errorf("CheckPairs of %d: %v, want %v", len(c.l), e, c.want)
+		}
+	}
+}
+
+// Chapters 1 and 7: each key has the value of the last pair that has it.
+func TestLastOfEach(t *testing.T) {
+	byFirst := func(a, b string) int { return strings.Compare(a[:1], b[:1]) }
+	for _, c := range []struct{ l, want []string }{
+		{nil, nil}, {[]string{}, nil}, {[]string{"a1"}, []string{"a1"}}, {[]string{"a1", "a2", "a0"}, []string{"a0"}},
+		{[]string{"c1", "a1", "b1", "a2", "c0"}, []string{"a2", "b1", "c0"}}, {[]string{"b", "a"}, []string{"a", "b"}},
+	} {
+		was := slices.Clone(c.l)
+		if got := rule.LastOfEach(c.l, byFirst); !slices.Equal(got, c.want) || !slices.Equal(c.l, was) {
+			t.Errorf("LastOfEach(%v): %v, and %v", was, got, c.l)
+		}
+	}
+	var many []string
+	for i := range 1000 {
+		many = append(many, string(rune('a'+i%7))+strconv.Itoa(i))
+	}
+	want := []string{"a994", "b995", "c996", "d997", "e998", "f999", "g993"}
+	if got := rule.LastOfEach(many, byFirst); !slices.Equal(got, want) {
+		t.Errorf("LastOfEach of many: %v", got)
 	}
 }
 

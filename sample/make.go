@@ -1,6 +1,7 @@
 package sample
 
 import (
+	"math"
 	"strings"
 
 	"spinney/api"
@@ -51,4 +52,9 @@ func Wrongs() []api.Value {
 		List(Num(1), Bool(2)), Map(Num(1), List(Str("\xff"))), Map(Bool(2), Num(1)),
 		Nested(api.MaxDeep+1, Num(1)), List(Numbers(api.MaxParts)...), Nested(5000, Num(1)),
 	}
+}
+
+// Beyond are numbers that pick no row of a table whose last row is that one.
+func Beyond(last int) []int {
+	return []int{-1, last + 1, last + 2, -last - 1, 1 << 32, -1 << 32, math.MinInt, math.MaxInt}
 }

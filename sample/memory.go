@@ -65,3 +65,49 @@ func Spoil(l []api.Value) {
 		l[i] = Str(spoilt)
 	}
 }
+
+// SamePairs tells whether two lists have the same pairs.
+func SamePairs(a, b []api.Pair) bool {
+	return slices.EqualFunc(a, b, func(a, b api.Pair) bool { return Same(a.Key, b.Key) && Same(a.Val, b.Val) })
+}
+
+// RoomyPairs are the same pairs in memory of their own, with room to spare behind each list.
+func RoomyPairs(l []api.Pair) []api.Pair {
+	if l == nil {
+		return nil
+	}
+	out := make([]api.Pair, 0, len(l)+3)
+	for _, p := range l {
+		out = append(out, api.Pair{Key: Roomy(p.Key), Val: Roomy(p.Val)})
+	}
+	room := out[len(out):cap(out)]
+	for i := range room {
+		room[i] = api.Pair{Key: Str(spare), Val: Str(spare)}
+	}
+	return out
+}
+
+// PairRoomKept tells whether the room that RoomyPairs made is as it was.
+func PairRoomKept(l []api.Pair) bool {
+	for _, p := range l[len(l):cap(l)] {
+		if !Same(p.Key, Str(spare)) || !Same(p.Val, Str(spare)) {
+			return false
+		}
+	}
+	for _, p := range l {
+		if !RoomKept(p.Key.Items) || !RoomKept(p.Val.Items) {
+			return false
+		}
+	}
+	return true
+}
+
+// SpoilPairs writes over all memory that a list of pairs reaches, its spare room too.
+func SpoilPairs(l []api.Pair) {
+	l = l[:cap(l)]
+	for i := range l {
+		Spoil(l[i].Key.Items)
+		Spoil(l[i].Val.Items)
+		l[i] = api.Pair{Key: Str(spoilt), Val: Str(spoilt)}
+	}
+}

@@ -2,6 +2,8 @@
 package sample
 
 import (
+	"slices"
+
 	"spinney/api"
 	"spinney/value"
 )
@@ -60,6 +62,33 @@ func (s *Source) Pairs(n, deep int) []api.Pair {
 	var out []api.Pair
 	for range n {
 		out = append(out, api.Pair{Key: s.Value(deep), Val: s.Value(deep)})
+	}
+	return out
+}
+
+// Keys are n right values, no two the same.
+func (s *Source) Keys(n int) []api.Value {
+	var out []api.Value
+	for i := range int64(n) {
+		// Each stands by a number of its own, at one depth or another, so that no two are the same.
+		switch s.Below(3) {
+		case 0:
+			out = append(out, Num(i))
+		case 1:
+			out = append(out, List(s.Value(1), Num(i)))
+		case 2:
+			out = append(out, Set(Num(i), List(s.Value(1))))
+		}
+	}
+	return out
+}
+
+// Shuffled are the same members in another order.
+func Shuffled[T any](s *Source, l []T) []T {
+	out := slices.Clone(l)
+	for i := range out {
+		k := s.Below(len(out))
+		out[i], out[k] = out[k], out[i]
 	}
 	return out
 }

@@ -10,16 +10,6 @@ import (
 // checkList tells what rule R1 finds wrong first in a list of values.
 func checkList(l []api.Value) api.Errno { return rule.CheckAll(l, Check) }
 
-// checkPairs tells what rule R1 finds wrong first in a list of pairs.
-func checkPairs(l []api.Pair) api.Errno { return rule.CheckAll(l, checkPair) }
-
-func checkPair(p api.Pair) api.Errno {
-	if e := Check(p.Key); e != api.OK {
-		return e
-	}
-	return Check(p.Val)
-}
-
 // sorted is a list of its own, rising; what its members hold is still shared with l.
 func sorted(l []api.Value) []api.Value {
 	out := slices.Clone(l)
@@ -29,14 +19,8 @@ func sorted(l []api.Value) []api.Value {
 
 // lastOfEachKey are a map's items; they still share with l what they hold.
 func lastOfEachKey(l []api.Pair) []api.Value {
-	pairs := slices.Clone(l)
-	// Stable, so that of one key's pairs the last one stays last.
-	slices.SortStableFunc(pairs, compareKeys)
 	var out []api.Value
-	for i, p := range pairs {
-		if i+1 < len(pairs) && Equal(p.Key, pairs[i+1].Key) {
-			continue
-		}
+	for _, p := range rule.LastOfEach(l, compareKeys) {
 		out = append(out, p.Key, p.Val)
 	}
 	return out

@@ -46,7 +46,7 @@ func Set(l []api.Value) (api.Value, api.Errno) {
 
 // Map is a map of pairs; of several of one key the last one counts.
 func Map(l []api.Pair) (api.Value, api.Errno) {
-	if e := checkPairs(l); e != api.OK {
+	if e := rule.CheckPairs(l, Check); e != api.OK {
 		return api.Value{}, e
 	}
 	return made(api.VMap, lastOfEachKey(l))

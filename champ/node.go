@@ -1,0 +1,183 @@
+package champ
+
+import (
+	"iter"
+	"slices"
+
+	"spinney/api"
+	"spinney/hash"
+	"spinney/rule"
+	"spinney/value"
+)
+
+const (
+	places = 32
+	// bottom is the depth at which no bit of a hash is left to tell keys apart.
+	bottom = 7
+)
+
+// member is a key with its value. Versions of a map share members, so none is changed once it is made.
+type member struct {
+	hash     uint32
+	key, val api.Value
+}
+
+// node is a node of a trie: above the bottom it has members and nodes, at no place both; at the bottom it has members without places alone. Versions of a map share nodes, so none is changed once it is made.
+type node struct {
+	members  row[member]
+	nodes    row[node]
+	unplaced blocks
+}
+
+// newMember is a member of a right key and value, in memory of its own.
+func newMember(kind int, k, v api.Value) *member {
+	h, _ := hash.Of(kind, k)
+	return &member{hash: h, key: rule.Copy(k), val: rule.Copy(v)}
+}
+
+// membersOf are right pairs' members, in natural order; of several pairs of one key the last one's.
+func membersOf(kind int, l []api.Pair) []*member {
+	var out []*member
+	for _, p := range rule.LastOfEach(l, comparePairs) {
+		out = append(out, newMember(kind, p.Key, p.Val))
+	}
+	return out
+}
+
+func comparePairs(a, b api.Pair) int { return value.Compare(a.Key, b.Key) }
+
+func compareMembers(a, b *member) int { return value.Compare(a.key, b.key) }
+
+// placeOf is the bit of a hash's place at a depth above the bottom.
+func placeOf(h uint32, depth int) uint32 {
+	place, _ := hash.Group(h, depth)
+	return 1 << place
+}
+
+// grown is a node of members in natural order, no two of one key, that agree in what the depths above it look at.
+func grown(l []*member, depth int) *node {
+	if depth == bottom {
+		return &node{unplaced: blocksOf(l)}
+	}
+	n := &node{}
+	for place, group := range grouped(l, depth) {
+		switch len(group) {
+		case 0:
+		case 1:
+			n.members.add(1<<place, group[0])
+		default:
+			n.nodes.add(1<<place, grown(group, depth+1))
+		}
+	}
+	return n
+}
+
+// grouped are members by their places; those of one place keep their order.
+func grouped(l []*member, depth int) [places][]*member {
+	var out [places][]*member
+	for _, m := range l {
+		place, _ := hash.Group(m.hash, depth)
+		out[place] = append(out[place], m)
+	}
+	return out
+}
+
+// find is the member of a key of that hash, nil if there is none.
+func (n *node) find(h uint32, k api.Value) *member {
+	for depth := range bottom {
+		place := placeOf(h, depth)
+		below := n.nodes.at(place)
+		if below == nil {
+			m := n.members.at(place)
+			if m == nil || !value.Equal(m.key, k) {
+				return nil
+			}
+			return m
+		}
+		n = below
+	}
+	return n.unplaced.find(k)
+}
+
+// with is the node with a member, in place of one of the same key.
+func (n *node) with(m *member, depth int) *node {
+	if depth == bottom {
+		return &node{unplaced: n.unplaced.with(m)}
+	}
+	place := placeOf(m.hash, depth)
+	if below := n.nodes.at(place); below != nil {
+		return n.changed(place, nil, below.with(m, depth+1))
+	}
+	if old := n.members.at(place); old != nil && !value.Equal(old.key, m.key) {
+		both := []*member{old, m}
+		slices.SortFunc(both, compareMembers)
+		return n.changed(place, nil, grown(both, depth+1))
+	}
+	return n.changed(place, m, nil)
+}
+
+// without is the node without one of its members.
+func (n *node) without(m *member, depth int) *node {
+	if depth == bottom {
+		return &node{unplaced: n.unplaced.without(m)}
+	}
+	place := placeOf(m.hash, depth)
+	below := n.nodes.at(place)
+	if below == nil {
+		return n.changed(place, nil, nil)
+	}
+	rest := below.without(m, depth+1)
+	// A node of one key would be another form of what has one form alone.
+	if only := rest.only(); only != nil {
+		return n.changed(place, only, nil)
+	}
+	return n.changed(place, nil, rest)
+}
+
+// only is the member of a trie that has no other one; else nil.
+func (n *node) only() *member {
+	var only *member
+	for m := range n.all() {
+		if only != nil {
+			return nil
+		}
+		only = m
+	}
+	return only
+}
+
+// changed is the node with a member, a node, or (both nil) nothing at a place.
+func (n *node) changed(place uint32, m *member, below *node) *node {
+	return &node{members: n.members.put(place, m), nodes: n.nodes.put(place, below)}
+}
+
+// size is how many members a node has, without those of the nodes below it.
+func (n *node) size() int { return len(n.members.list) + n.unplaced.size() }
+
+// all goes over the members of a trie, in trie order.
+func (n *node) all() iter.Seq[*member] {
+	return func(yield func(*member) bool) { n.each(yield) }
+}
+
+// each tells whether yield wants to go on.
+func (n *node) each(yield func(*member) bool) bool {
+	for i := range places {
+		place := uint32(1) << i
+		if m := n.members.at(place); m != nil && !yield(m) {
+			return false
+		}
+		if below := n.nodes.at(place); below != nil && !below.each(yield) {
+			return false
+		}
+	}
+	return n.unplaced.each(yield)
+}
+
+// shapes are the shapes of a node and of those below it.
+func (n *node) shapes(depth int) []api.Shape {
+	out := []api.Shape{{Depth: depth, Data: n.members.places, Nodes: n.nodes.places, Members: n.size()}}
+	for _, below := range n.nodes.list {
+		out = append(out, below.shapes(depth+1)...)
+	}
+	return out
+}

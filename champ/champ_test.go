@@ -10,6 +10,7 @@ import (
 	"spinney/api"
 	"spinney/champ"
 	"spinney/hash"
+	"spinney/model"
 	"spinney/sample"
 	"spinney/value"
 )
@@ -19,29 +20,13 @@ func num(n int64) api.Value             { return sample.Num(n) }
 func str(s string) api.Value            { return sample.Str(s) }
 func list(items ...api.Value) api.Value { return sample.List(items...) }
 func pair(k, v api.Value) api.Pair      { return api.Pair{Key: k, Val: v} }
-
-// ints are pairs of numbers: a key, its value, a key, its value ..
-func ints(l ...int64) []api.Pair {
-	var out []api.Pair
-	for n := range slices.Chunk(l, 2) {
-		out = append(out, pair(num(n[0]), num(n[1])))
-	}
-	return out
-}
+func ints(l ...int64) []api.Pair        { return model.Ints(l...) }
 
 // valued are keys with values that differ from key to key.
 func valued(keys []api.Value) []api.Pair {
 	var out []api.Pair
 	for i, k := range keys {
 		out = append(out, pair(k, list(num(int64(i)), k)))
-	}
-	return out
-}
-
-func keysOf(l []api.Pair) []api.Value {
-	var out []api.Value
-	for _, p := range l {
-		out = append(out, p.Key)
 	}
 	return out
 }
@@ -63,69 +48,11 @@ func must(t *testing.T) func(*champ.Map, api.Errno) *champ.Map {
 	}
 }
 
-// at is where a key stands in a plain list of pairs, -1 if it does not.
-func at(l []api.Pair, k api.Value) int {
-	return slices.IndexFunc(l, func(p api.Pair) bool { return sample.Same(p.Key, k) })
-}
-
-// put is what a plain list of pairs becomes when a key gets a value.
-func put(l []api.Pair, k, v api.Value) []api.Pair {
-	return append(drop(l, k), pair(k, v))
-}
-
-// drop is a plain list of pairs without a key.
-func drop(l []api.Pair, k api.Value) []api.Pair {
-	if i := at(l, k); i >= 0 {
-		return slices.Delete(slices.Clone(l), i, i+1)
-	}
-	return slices.Clone(l)
-}
-
-// inTrieOrder are pairs of unlike keys in trie order.
-func inTrieOrder(kind int, l []api.Pair) []api.Pair {
-	var out []api.Pair
-	for _, k := range sample.InTrieOrder(kind, keysOf(l)) {
-		out = append(out, l[at(l, k)])
-	}
-	return out
-}
-
-// gone are the pairs that come through a map's iterator.
-func gone(m *champ.Map) []api.Pair {
-	var out []api.Pair
-	for k, v := range m.All() {
-		out = append(out, pair(k, v))
-	}
-	return out
-}
-
 // check asks a map everything, against a plain list of pairs with unlike keys.
 func check(t *testing.T, m *champ.Map, kind int, plain []api.Pair) {
 	t.Helper()
-	checkSorted(t, m, kind, inTrieOrder(kind, plain))
-}
-
-// checkSorted asks likewise, of pairs in trie order.
-func checkSorted(t *testing.T, m *champ.Map, kind int, want []api.Pair) {
-	t.Helper()
-	if m.Kind() != kind || m.Len() != len(want) {
-		t.Fatalf("kind %d, %d keys, want kind %d, %d keys", m.Kind(), m.Len(), kind, len(want))
-	}
-	if l := m.Pairs(); !sample.SamePairs(l, want) {
-		t.Fatalf("kind %d: Pairs: %s, want %s", kind, short(l), short(want))
-	}
-	if l := gone(m); !sample.SamePairs(l, want) {
-		t.Fatalf("kind %d: All: %s, want %s", kind, short(l), short(want))
-	}
-	if l, w := m.Shape(), sample.Shape(kind, keysOf(want)); !slices.Equal(l, w) {
-		t.Fatalf("kind %d: Shape: %s, want %s", kind, short(l), short(w))
-	}
-	for _, p := range want {
-		checkGet(t, m, p.Key, p.Val, true)
-	}
-	v, e := m.Value()
-	if w, f := value.Map(want); !sample.Same(v, w) || e != f {
-		t.Fatalf("kind %d: Value: %s, %v, want %s, %v", kind, short(v), e, short(w), f)
+	if wrong := model.WrongOfMap(m, kind, plain); wrong != "" {
+		t.Fatalf("%s is wrong: %s of kind %d, want %s of kind %d", wrong, short(m.Pairs()), m.Kind(), short(plain), kind)
 	}
 }
 
@@ -218,11 +145,7 @@ func TestOfKeepsTheLast(t *testing.T) {
 		check(t, must(t)(champ.Of(kind, ints(3, 1, 3, 2, 3, 0))), kind, ints(3, 0))
 		for range 5 {
 			l := s.Pairs(s.Below(80), 2)
-			var plain []api.Pair
-			for _, p := range l {
-				plain = put(plain, p.Key, p.Val)
-			}
-			check(t, must(t)(champ.Of(kind, l)), kind, plain)
+			check(t, must(t)(champ.Of(kind, l)), kind, model.PutAll(nil, l))
 		}
 	}
 }
@@ -234,14 +157,14 @@ func step(t *testing.T, s *sample.Source, kind int, m *champ.Map, plain []api.Pa
 	switch s.Below(5) {
 	case 0, 1:
 		v := s.Value(2)
-		m, plain = must(t)(m.Assoc(k, v)), put(plain, k, v)
+		m, plain = must(t)(m.Assoc(k, v)), model.Put(plain, k, v)
 	case 2:
 		// The same value again: nothing else may come of it.
-		if i := at(plain, k); i >= 0 {
+		if i := model.Find(plain, k); i >= 0 {
 			m = must(t)(m.Assoc(k, plain[i].Val))
 		}
 	default:
-		m, plain = must(t)(m.Dissoc(k)), drop(plain, k)
+		m, plain = must(t)(m.Dissoc(k)), model.Drop(plain, k)
 		checkGet(t, m, k, none(), false)
 	}
 	check(t, m, kind, plain)
@@ -355,7 +278,7 @@ func TestOneOfTwoAtEveryDepth(t *testing.T) {
 			three := append(slices.Clone(both), pair(third, num(30)))
 			m := must(t)(champ.Of(kind, three))
 			for _, p := range three {
-				check(t, must(t)(m.Dissoc(p.Key)), kind, drop(three, p.Key))
+				check(t, must(t)(m.Dissoc(p.Key)), kind, model.Drop(three, p.Key))
 			}
 		}
 	}
@@ -367,10 +290,9 @@ func TestOneForm(t *testing.T) {
 		s := sample.New(uint64(kind))
 		all := valued(s.Keys(60))
 		kept, passing := all[:40], all[40:]
-		want := inTrieOrder(kind, kept)
-		checkSorted(t, must(t)(champ.Of(kind, kept)), kind, want)
+		check(t, must(t)(champ.Of(kind, kept)), kind, kept)
 		for range 4 {
-			checkSorted(t, must(t)(champ.Of(kind, sample.Shuffled(s, kept))), kind, want)
+			check(t, must(t)(champ.Of(kind, sample.Shuffled(s, kept))), kind, kept)
 			m := must(t)(champ.New(kind))
 			for _, p := range sample.Shuffled(s, all) {
 				m = must(t)(m.Assoc(p.Key, s.Value(1)))
@@ -379,7 +301,7 @@ func TestOneForm(t *testing.T) {
 			for _, p := range sample.Shuffled(s, passing) {
 				m = must(t)(m.Dissoc(p.Key))
 			}
-			checkSorted(t, m, kind, want)
+			check(t, m, kind, kept)
 			m = must(t)(champ.Of(kind, sample.Shuffled(s, all)))
 			for _, p := range sample.Shuffled(s, all) {
 				m = must(t)(m.Dissoc(p.Key))
@@ -394,7 +316,7 @@ func TestAll(t *testing.T) {
 	for _, kind := range []int{0, 1, 5, 31, 32, 33, 34, 59, 63} {
 		plain := valued(sample.New(3).Keys(30))
 		m := must(t)(champ.Of(kind, plain))
-		all, want := m.All(), inTrieOrder(kind, plain)
+		all, want := m.All(), model.InTrieOrder(kind, plain)
 		for n := range len(want) + 1 {
 			var got []api.Pair
 			for k, v := range all {
@@ -471,9 +393,9 @@ func valuedByNil(keys []api.Value) []api.Pair {
 // 7.1, 7.2: MaxLen keys, and one more.
 func TestMaxLen(t *testing.T) {
 	for _, kind := range []int{0, 1, 8, 32, 33, 50} {
-		plain := valuedByNil(sample.InTrieOrder(kind, sample.Numbers(api.MaxLen)))
+		plain := valuedByNil(sample.Numbers(api.MaxLen))
 		full := must(t)(champ.Of(kind, plain))
-		checkSorted(t, full, kind, plain)
+		check(t, full, kind, plain)
 		if m, e := full.Assoc(num(-1), none()); m != nil || e != api.ErrLong {
 			t.Errorf("kind %d: one more: %v", kind, e)
 		}
@@ -489,7 +411,7 @@ func TestMaxLen(t *testing.T) {
 		if m, e := other.Assoc(num(7), none()); m != nil || e != api.ErrLong {
 			t.Errorf("kind %d: one more again: %v", kind, e)
 		}
-		checkSorted(t, full, kind, plain)
+		check(t, full, kind, plain)
 	}
 }
 
@@ -518,19 +440,19 @@ func TestManyOfOneHash(t *testing.T) {
 			for _, k := range keys {
 				m = must(t)(m.Assoc(k, none()))
 			}
-			full := valuedByNil(sample.InTrieOrder(kind, keys))
-			checkSorted(t, m, kind, full)
+			full := valuedByNil(keys)
+			check(t, m, kind, full)
 			less := m
 			for _, k := range keys[:n-100] {
 				less = must(t)(less.Dissoc(k))
 				checkGet(t, less, k, none(), false)
 			}
-			checkSorted(t, less, kind, valuedByNil(sample.InTrieOrder(kind, keys[n-100:])))
+			check(t, less, kind, valuedByNil(keys[n-100:]))
 			for _, k := range keys[:n-100] {
 				less = must(t)(less.Assoc(k, none()))
 			}
-			checkSorted(t, less, kind, full)
-			checkSorted(t, m, kind, full)
+			check(t, less, kind, full)
+			check(t, m, kind, full)
 		}
 	}
 }
@@ -607,19 +529,10 @@ func TestWhichErrorComesFirst(t *testing.T) {
 	}
 }
 
-// nested are pairs whose keys and values hold lists.
-func nested() []api.Pair {
-	return []api.Pair{
-		pair(list(num(1), list(num(2))), sample.Set(num(3), list(num(4)))),
-		pair(sample.Map(num(1), list(num(5))), list(list(num(6)), num(7))),
-		pair(list(str("k"), num(8)), list(num(9))),
-	}
-}
-
 // R3: what is handed in stays as it is, and is not kept.
 func TestArgumentsStay(t *testing.T) {
 	for _, kind := range []int{0, 3, 32, 40} {
-		l := sample.RoomyPairs(nested())
+		l := sample.RoomyPairs(model.Nested())
 		m := must(t)(champ.Of(kind, l))
 		n := must(t)(champ.New(kind))
 		for _, p := range l {
@@ -628,20 +541,20 @@ func TestArgumentsStay(t *testing.T) {
 		}
 		less := must(t)(n.Dissoc(l[0].Key))
 		m.Get(l[0].Key)
-		if !sample.SamePairs(l, nested()) || !sample.PairRoomKept(l) {
+		if !sample.SamePairs(l, model.Nested()) || !sample.PairRoomKept(l) {
 			t.Errorf("kind %d: changed: %v", kind, l)
 		}
 		sample.SpoilPairs(l)
-		check(t, m, kind, nested())
-		check(t, n, kind, nested())
-		check(t, less, kind, nested()[1:])
+		check(t, m, kind, model.Nested())
+		check(t, n, kind, model.Nested())
+		check(t, less, kind, model.Nested()[1:])
 	}
 }
 
 // R3: writing over an answer changes nothing that is told, of that map or of another version.
 func TestAnswersAreNew(t *testing.T) {
 	for _, kind := range []int{0, 3, 32, 40} {
-		m := must(t)(champ.Of(kind, nested()))
+		m := must(t)(champ.Of(kind, model.Nested()))
 		other := must(t)(m.Assoc(num(1), num(2)))
 		spoil := func(told *champ.Map) {
 			sample.SpoilPairs(told.Pairs())
@@ -649,7 +562,7 @@ func TestAnswersAreNew(t *testing.T) {
 				sample.Spoil(k.Items)
 				sample.Spoil(v.Items)
 			}
-			for _, p := range nested() {
+			for _, p := range model.Nested() {
 				v, _, _ := told.Get(p.Key)
 				sample.Spoil(v.Items)
 			}
@@ -663,9 +576,9 @@ func TestAnswersAreNew(t *testing.T) {
 		spoil(m)
 		spoil(other)
 		sample.SpoilPairs(again)
-		check(t, m, kind, nested())
-		check(t, other, kind, append(nested(), ints(1, 2)...))
-		if want, _ := value.Map(nested()); !sample.SamePairs(first, inTrieOrder(kind, nested())) || !sample.Same(v, want) {
+		check(t, m, kind, model.Nested())
+		check(t, other, kind, append(model.Nested(), ints(1, 2)...))
+		if want, _ := value.Map(model.Nested()); !sample.SamePairs(first, model.InTrieOrder(kind, model.Nested())) || !sample.Same(v, want) {
 			t.Errorf("kind %d: answers share memory: %v, %v", kind, first, v)
 		}
 	}
@@ -678,7 +591,7 @@ func TestListsOfOneAnswer(t *testing.T) {
 	l := m.Pairs()
 	sample.Spoil(l[0].Key.Items)
 	sample.Spoil(l[0].Val.Items)
-	if want := inTrieOrder(0, []api.Pair{pair(part, part), pair(list(part), part)})[1:]; !sample.SamePairs(l[1:], want) {
+	if want := model.InTrieOrder(0, []api.Pair{pair(part, part), pair(list(part), part)})[1:]; !sample.SamePairs(l[1:], want) {
 		t.Errorf("Pairs: %v, want %v", l[1:], want)
 	}
 }

@@ -10,6 +10,7 @@ import (
 	"spinney/api"
 	"spinney/champ"
 	"spinney/hset"
+	"spinney/model"
 	"spinney/sample"
 	"spinney/value"
 )
@@ -77,30 +78,8 @@ func each(l []api.Value) []api.Value {
 // check asks a set everything, against a plain list of unlike members.
 func check(t *testing.T, s *hset.Set, kind int, plain []api.Value) {
 	t.Helper()
-	checkSorted(t, s, kind, sample.InTrieOrder(kind, plain))
-}
-
-// checkSorted asks likewise, of members in trie order.
-func checkSorted(t *testing.T, s *hset.Set, kind int, want []api.Value) {
-	t.Helper()
-	if s == nil || s.Kind() != kind || s.Len() != len(want) {
-		t.Fatalf("%p: kind %d, %d members, want kind %d, %d members", s, s.Kind(), s.Len(), kind, len(want))
-	}
-	if l := s.Items(); !sample.SameAll(l, want) {
-		t.Fatalf("kind %d: Items: %s, want %s", kind, short(l), short(want))
-	}
-	if l := slices.Collect(s.All()); !sample.SameAll(l, want) {
-		t.Fatalf("kind %d: All: %s, want %s", kind, short(l), short(want))
-	}
-	if l, w := s.Shape(), sample.Shape(kind, want); !slices.Equal(l, w) {
-		t.Fatalf("kind %d: Shape: %s, want %s", kind, short(l), short(w))
-	}
-	for _, v := range want {
-		checkHas(t, s, v, true)
-	}
-	v, e := s.Value()
-	if w, f := value.Set(want); !sample.Same(v, w) || e != f {
-		t.Fatalf("kind %d: Value: %s, %v, want %s, %v", kind, short(v), e, short(w), f)
+	if wrong := model.WrongOfSet(s, kind, plain); s == nil || wrong != "" {
+		t.Fatalf("%s is wrong: %s of kind %d, want %s of kind %d", wrong, short(s.Items()), s.Kind(), short(plain), kind)
 	}
 }
 
@@ -209,16 +188,15 @@ func TestOneForm(t *testing.T) {
 		source := sample.New(uint64(kind))
 		all := source.Keys(50)
 		kept, passing := all[:30], all[30:]
-		want := sample.InTrieOrder(kind, kept)
 		whole, gone := must(t)(hset.Of(kind, all)), must(t)(hset.Of(kind, passing))
 		stay := must(t)(hset.Of((kind+1)%(api.MaxHash+1), kept))
 		early, late := must(t)(hset.Of(kind, kept[:20])), must(t)(hset.Of(5, kept[10:]))
-		checkSorted(t, hset.Less(whole, gone), kind, want)
-		checkSorted(t, hset.Meet(whole, stay), kind, want)
-		checkSorted(t, must(t)(hset.Union(early, late)), kind, want)
-		checkSorted(t, must(t)(hset.Either(whole, gone)), kind, want)
+		check(t, hset.Less(whole, gone), kind, kept)
+		check(t, hset.Meet(whole, stay), kind, kept)
+		check(t, must(t)(hset.Union(early, late)), kind, kept)
+		check(t, must(t)(hset.Either(whole, gone)), kind, kept)
 		for range 3 {
-			checkSorted(t, must(t)(hset.Of(kind, sample.Shuffled(source, kept))), kind, want)
+			check(t, must(t)(hset.Of(kind, sample.Shuffled(source, kept))), kind, kept)
 			s := must(t)(hset.New(kind))
 			for _, v := range sample.Shuffled(source, slices.Concat(all, all)) {
 				s = must(t)(s.Conj(v))
@@ -226,7 +204,7 @@ func TestOneForm(t *testing.T) {
 			for _, v := range sample.Shuffled(source, passing) {
 				s = must(t)(s.Disj(v))
 			}
-			checkSorted(t, s, kind, want)
+			check(t, s, kind, kept)
 		}
 	}
 }
@@ -418,19 +396,19 @@ func TestLaws(t *testing.T) {
 // 8.1, 8.2, 8.4: MaxLen members, and one more.
 func TestMaxLen(t *testing.T) {
 	for _, kind := range []int{0, 1, 32, 50} {
-		l := sample.InTrieOrder(kind, sample.Numbers(api.MaxLen))
+		l := sample.Numbers(api.MaxLen)
 		full := must(t)(hset.Of(kind, l))
-		checkSorted(t, full, kind, l)
+		check(t, full, kind, l)
 		if s, e := full.Conj(num(-1)); s != nil || e != api.ErrLong {
 			t.Errorf("kind %d: one more: %v", kind, e)
 		}
-		checkSorted(t, must(t)(full.Conj(num(7))), kind, l)
+		check(t, must(t)(full.Conj(num(7))), kind, l)
 		fewer := must(t)(full.Disj(num(7)))
 		other := must(t)(fewer.Conj(num(-1)))
 		if s, e := other.Conj(num(7)); s != nil || e != api.ErrLong || fewer.Len() != api.MaxLen-1 || other.Len() != api.MaxLen {
 			t.Errorf("kind %d: %d, %d members, one more: %v", kind, fewer.Len(), other.Len(), e)
 		}
-		checkSorted(t, full, kind, l)
+		check(t, full, kind, l)
 	}
 }
 

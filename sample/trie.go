@@ -16,16 +16,19 @@ const (
 // InTrieOrder are the same values in trie order of a kind of hash.
 func InTrieOrder(kind int, l []api.Value) []api.Value {
 	out := slices.Clone(l)
-	slices.SortStableFunc(out, func(a, b api.Value) int {
-		if ahead, _ := hash.Before(kind, a, b); ahead {
-			return -1
-		}
-		if behind, _ := hash.Before(kind, b, a); behind {
-			return 1
-		}
-		return 0
-	})
+	slices.SortStableFunc(out, func(a, b api.Value) int { return CompareInTrie(kind, a, b) })
 	return out
+}
+
+// CompareInTrie is below 0 if one value stands ahead of another one in trie order, above 0 if behind it.
+func CompareInTrie(kind int, a, b api.Value) int {
+	if ahead, _ := hash.Before(kind, a, b); ahead {
+		return -1
+	}
+	if behind, _ := hash.Before(kind, b, a); behind {
+		return 1
+	}
+	return 0
 }
 
 // Shape is the shape that chapter 7 gives a trie of keys, no two of them the same, worked out from their hashes alone.

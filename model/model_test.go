@@ -1,0 +1,89 @@
+package model_test
+
+import (
+	"testing"
+
+	"spinney/api"
+	"spinney/champ"
+	"spinney/hset"
+	"spinney/model"
+	"spinney/sample"
+)
+
+func pair(k, v int64) api.Pair { return api.Pair{Key: sample.Num(k), Val: sample.Num(v)} }
+
+func TestPairs(t *testing.T) {
+	l := []api.Pair{pair(1, 10), pair(2, 20), pair(3, 30)}
+	for _, c := range []struct{ got, want []api.Pair }{
+		{model.Put(l, sample.Num(4), sample.Num(40)), []api.Pair{l[0], l[1], l[2], pair(4, 40)}},
+		{model.Put(l, sample.Num(1), sample.Num(11)), []api.Pair{l[1], l[2], pair(1, 11)}},
+		{model.Put(nil, sample.Num(1), sample.Num(10)), l[:1]},
+		{model.PutAll(l, []api.Pair{pair(4, 40), pair(1, 11), pair(4, 41)}), []api.Pair{l[1], l[2], pair(1, 11), pair(4, 41)}},
+		{model.PutAll(nil, l), l},
+		{model.Drop(l, sample.Num(2)), []api.Pair{l[0], l[2]}},
+		{model.Drop(l, sample.Num(4)), l},
+		{model.Drop(nil, sample.Num(4)), nil},
+		// Under kind 39 the hash of 2 comes ahead of that of 1.
+		{model.InTrieOrder(39, l[:2]), []api.Pair{l[1], l[0]}},
+		{model.InTrieOrder(32, []api.Pair{l[2], l[0], l[1]}), l},
+	} {
+		if !sample.SamePairs(c.got, c.want) {
+			t.Errorf("%v, want %v", c.got, c.want)
+		}
+	}
+	if keys := model.Keys(l); model.Find(l, sample.Num(3)) != 2 || model.Find(l, sample.Num(30)) != -1 || len(keys) != 3 || keys[2].Num != 3 {
+		t.Errorf("Find, Keys of %v: %v", l, keys)
+	}
+	if !sample.SamePairs(l, []api.Pair{pair(1, 10), pair(2, 20), pair(3, 30)}) {
+		t.Errorf("changed: %v", l)
+	}
+}
+
+func TestWrongOfMap(t *testing.T) {
+	l := []api.Pair{pair(1, 10), pair(2, 20)}
+	m, _ := champ.Of(5, l)
+	for _, c := range []struct {
+		kind  int
+		plain []api.Pair
+		want  string
+	}{
+		{5, l, ""}, {5, []api.Pair{l[1], l[0]}, ""}, {0, l, "Kind"}, {5, l[:1], "Len"}, {5, []api.Pair{l[0], pair(2, 21)}, "Pairs"}, {5, []api.Pair{l[0], pair(3, 20)}, "Pairs"},
+	} {
+		if wrong := model.WrongOfMap(m, c.kind, c.plain); wrong != c.want {
+			t.Errorf("kind %d, %v: %q, want %q", c.kind, c.plain, wrong, c.want)
+		}
+	}
+}
+
+func TestWrongOfSet(t *testing.T) {
+	l := sample.Numbers(3)
+	s, _ := hset.Of(5, l)
+	for _, c := range []struct {
+		kind  int
+		plain []api.Value
+		want  string
+	}{
+		{5, l, ""}, {5, []api.Value{l[2], l[0], l[1]}, ""}, {0, l, "Kind"}, {5, l[:2], "Len"}, {5, []api.Value{l[0], l[1], sample.Num(3)}, "Items"},
+	} {
+		if wrong := model.WrongOfSet(s, c.kind, c.plain); wrong != c.want {
+			t.Errorf("kind %d, %v: %q, want %q", c.kind, c.plain, wrong, c.want)
+		}
+	}
+}
+
+func TestMade(t *testing.T) {
+	if l := model.Ints(1, 10, 2, 20); !sample.SamePairs(l, []api.Pair{pair(1, 10), pair(2, 20)}) || len(model.Ints()) != 0 {
+		t.Errorf("Ints: %v", l)
+	}
+	if l := model.Numbered(-1, 3, sample.Num(5)); !sample.SamePairs(l, []api.Pair{pair(-1, 5), pair(0, 5), pair(1, 5)}) {
+		t.Errorf("Numbered: %v", l)
+	}
+	l := model.Nested()
+	if _, e := champ.Of(0, l); e != api.OK {
+		t.Errorf("Nested: %v", e)
+	}
+	sample.SpoilPairs(l)
+	if _, e := champ.Of(0, model.Nested()); e != api.OK || sample.SamePairs(l, model.Nested()) {
+		t.Errorf("Nested again: %v", e)
+	}
+}

@@ -7,6 +7,7 @@ import (
 	"spinney/champ"
 	"spinney/hset"
 	"spinney/model"
+	"spinney/rrb"
 	"spinney/sample"
 )
 
@@ -85,5 +86,37 @@ func TestMade(t *testing.T) {
 	sample.SpoilPairs(l)
 	if _, e := champ.Of(0, model.Nested()); e != api.OK || sample.SamePairs(l, model.Nested()) {
 		t.Errorf("Nested again: %v", e)
+	}
+}
+
+func TestWrongOfVec(t *testing.T) {
+	l := sample.Numbers(3)
+	v, _ := rrb.Of(l)
+	for _, c := range []struct {
+		plain []api.Value
+		want  string
+	}{
+		{l, ""}, {nil, "Len"}, {l[:2], "Len"}, {sample.Numbers(4), "Len"}, {[]api.Value{l[0], l[2], l[1]}, "Items"},
+	} {
+		if wrong := model.WrongOfVec(v, c.plain); wrong != c.want {
+			t.Errorf("%v: %q, want %q", c.plain, wrong, c.want)
+		}
+	}
+	if wrong := model.WrongOfVec(nil, nil); wrong != "" {
+		t.Errorf("nil: %q", wrong)
+	}
+}
+
+func TestHeightFits(t *testing.T) {
+	for _, c := range []struct {
+		n, least, most int
+	}{
+		{0, 0, 0}, {1, 1, 3}, {15, 1, 3}, {16, 1, 4}, {32, 1, 4}, {33, 2, 4}, {255, 2, 4}, {256, 2, 5}, {1024, 2, 5}, {1025, 3, 5}, {2000, 3, 5}, {4095, 3, 5}, {4096, 3, 6}, {32768, 3, 6}, {65535, 4, 6}, {65536, 4, 7},
+	} {
+		for h := -1; h < 20; h++ {
+			if got, want := model.HeightFits(c.n, h), c.least <= h && h <= c.most; got != want {
+				t.Errorf("%d items, %d levels: %v", c.n, h, got)
+			}
+		}
 	}
 }

@@ -7,6 +7,7 @@ import (
 	"spinney/champ"
 	"spinney/hset"
 	"spinney/model"
+	"spinney/redblack"
 	"spinney/rrb"
 	"spinney/sample"
 )
@@ -27,6 +28,8 @@ func TestPairs(t *testing.T) {
 		// Under kind 39 the hash of 2 comes ahead of that of 1.
 		{model.InTrieOrder(39, l[:2]), []api.Pair{l[1], l[0]}},
 		{model.InTrieOrder(32, []api.Pair{l[2], l[0], l[1]}), l},
+		{model.InOrder(0, []api.Pair{l[2], l[0], l[1]}), l},
+		{model.InOrder(1, l), []api.Pair{l[2], l[1], l[0]}},
 	} {
 		if !sample.SamePairs(c.got, c.want) {
 			t.Errorf("%v, want %v", c.got, c.want)
@@ -116,6 +119,40 @@ func TestHeightFits(t *testing.T) {
 		for h := -1; h < 20; h++ {
 			if got, want := model.HeightFits(c.n, h), c.least <= h && h <= c.most; got != want {
 				t.Errorf("%d items, %d levels: %v", c.n, h, got)
+			}
+		}
+	}
+}
+
+func TestWrongOfSorted(t *testing.T) {
+	l := []api.Pair{pair(1, 10), pair(2, 20)}
+	m, _ := redblack.Of(1, l)
+	for _, c := range []struct {
+		by    int
+		plain []api.Pair
+		want  string
+	}{
+		{1, l, ""}, {1, []api.Pair{l[1], l[0]}, ""}, {0, l, "Order"}, {1, l[:1], "Len"}, {1, []api.Pair{l[0], pair(2, 21)}, "Pairs"}, {1, []api.Pair{l[0], pair(3, 20)}, "Pairs"},
+	} {
+		if wrong := model.WrongOfSorted(m, c.by, c.plain); wrong != c.want {
+			t.Errorf("order %d, %v: %q, want %q", c.by, c.plain, wrong, c.want)
+		}
+	}
+	if wrong := model.WrongOfSorted(nil, 0, nil); wrong != "" {
+		t.Errorf("nil: %q", wrong)
+	}
+}
+
+// The most levels are twice log2(n + 1), rounded down: of 2 keys 3.17, of 4 keys 4.64, of 1000 keys 19.93.
+func TestFlatFits(t *testing.T) {
+	for _, c := range []struct {
+		n, least, most int
+	}{
+		{0, 0, 0}, {1, 1, 2}, {2, 2, 3}, {3, 2, 4}, {4, 3, 4}, {5, 3, 5}, {7, 3, 6}, {8, 4, 6}, {1000, 10, 19}, {1023, 10, 20}, {1024, 11, 20}, {65535, 16, 32}, {65536, 17, 32},
+	} {
+		for h := -1; h < 70; h++ {
+			if got, want := model.FlatFits(c.n, h), c.least <= h && h <= c.most; got != want {
+				t.Errorf("%d keys, %d levels: %v", c.n, h, got)
 			}
 		}
 	}

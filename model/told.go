@@ -1,6 +1,7 @@
 package model
 
 import (
+	"iter"
 	"slices"
 
 	"spinney/api"
@@ -20,11 +21,11 @@ func WrongOfMap(m *champ.Map, kind int, plain []api.Pair) string {
 		return "Len"
 	case !sample.SamePairs(m.Pairs(), want):
 		return "Pairs"
-	case !sample.SamePairs(gone(m), want):
+	case !sample.SamePairs(gone(m.All()), want):
 		return "All"
 	case !slices.Equal(m.Shape(), sample.Shape(kind, Keys(want))):
 		return "Shape"
-	case !slices.EqualFunc(want, Keys(want), got(m)):
+	case !slices.EqualFunc(want, Keys(want), got(m.Get)):
 		return "Get"
 	case !sameValue(value.Map(want))(m.Value()):
 		return "Value"
@@ -55,18 +56,18 @@ func WrongOfSet(s *hset.Set, kind int, plain []api.Value) string {
 }
 
 // gone are the pairs that come through a map's iterator.
-func gone(m *champ.Map) []api.Pair {
+func gone(all iter.Seq2[api.Value, api.Value]) []api.Pair {
 	var out []api.Pair
-	for k, v := range m.All() {
+	for k, v := range all {
 		out = append(out, api.Pair{Key: k, Val: v})
 	}
 	return out
 }
 
-// got tells whether a map has a pair's value under a key.
-func got(m *champ.Map) func(p api.Pair, k api.Value) bool {
+// got tells whether a map, by its call Get, has a pair's value under a key.
+func got(get func(api.Value) (api.Value, bool, api.Errno)) func(p api.Pair, k api.Value) bool {
 	return func(p api.Pair, k api.Value) bool {
-		v, there, e := m.Get(k)
+		v, there, e := get(k)
 		return there && e == api.OK && sample.Same(v, p.Val)
 	}
 }

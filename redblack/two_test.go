@@ -164,17 +164,18 @@ func TestUnionOfMaxLen(t *testing.T) {
 		other := (order + 1) % (api.MaxOrder + 1)
 		full := of(t, order, all)
 		halves := must(t)(redblack.Union(of(t, order, all[:api.MaxLen/2]), of(t, other, all[api.MaxLen/2:])))
-		check(t, halves, order, all)
-		checkEqual(t, must(t)(redblack.Union(full, full)), full, true)
-		checkEqual(t, must(t)(redblack.Union(full, nil)), full, true)
 		most := must(t)(redblack.Union(full, of(t, other, model.Numbered(5, 100, num(1)))))
-		checkEqual(t, most, of(t, other, slices.Concat(all[:5], model.Numbered(5, 100, num(1)), all[105:])), true)
+		for _, m := range []*redblack.Map{halves, must(t)(redblack.Union(full, full)), must(t)(redblack.Union(full, nil))} {
+			checkEqual(t, m, full, true)
+			checkFlat(t, m)
+		}
+		checkEqual(t, most, of(t, order, slices.Concat(all[:5], model.Numbered(5, 100, num(1)), all[105:])), true)
 		one := of(t, other, ints(-1, 0))
 		refused(t, api.ErrLong)(redblack.Union(full, one))
 		refused(t, api.ErrLong)(redblack.Union(one, full))
 		refused(t, api.ErrLong)(redblack.Union(full, of(t, other, model.Numbered(1, api.MaxLen, none()))))
 		refused(t, api.ErrLong)(redblack.Union(full, of(t, order, model.Numbered(-api.MaxLen, api.MaxLen, none()))))
-		check(t, full, order, all)
+		checkEqual(t, full, of(t, order, all), true)
 	}
 }
 

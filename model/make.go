@@ -25,6 +25,15 @@ func Numbered(from, n int, v api.Value) []api.Pair {
 	return out
 }
 
+// Valued are keys with values that differ from key to key.
+func Valued(keys []api.Value) []api.Pair {
+	var out []api.Pair
+	for i, k := range keys {
+		out = append(out, api.Pair{Key: k, Val: sample.List(sample.Num(int64(i)), sample.Str("v"))})
+	}
+	return out
+}
+
 // Nested are pairs whose keys and values hold lists, in memory of their own.
 func Nested() []api.Pair {
 	num, list := sample.Num, sample.List

@@ -10,6 +10,7 @@ import (
 	"spinney/redblack"
 	"spinney/rrb"
 	"spinney/sample"
+	"spinney/sset"
 )
 
 func pair(k, v int64) api.Pair { return api.Pair{Key: sample.Num(k), Val: sample.Num(v)} }
@@ -81,6 +82,9 @@ func TestMade(t *testing.T) {
 	}
 	if l := model.Numbered(-1, 3, sample.Num(5)); !sample.SamePairs(l, []api.Pair{pair(-1, 5), pair(0, 5), pair(1, 5)}) {
 		t.Errorf("Numbered: %v", l)
+	}
+	if l := model.Valued(sample.Numbers(3)); len(l) != 3 || l[2].Key.Num != 2 || l[2].Val.Items[0].Num != 2 || sample.Same(l[0].Val, l[1].Val) {
+		t.Errorf("Valued: %v", l)
 	}
 	l := model.Nested()
 	if _, e := champ.Of(0, l); e != api.OK {
@@ -155,5 +159,77 @@ func TestFlatFits(t *testing.T) {
 				t.Errorf("%d keys, %d levels: %v", c.n, h, got)
 			}
 		}
+	}
+}
+
+func TestParted(t *testing.T) {
+	l := model.Ints(5, 50, 1, 10, 3, 30)
+	for _, c := range []struct {
+		by                  int
+		k                   int64
+		ahead, same, behind []api.Pair
+	}{
+		{0, 3, model.Ints(1, 10), model.Ints(3, 30), model.Ints(5, 50)}, {0, 4, model.Ints(1, 10, 3, 30), nil, model.Ints(5, 50)}, {1, 4, model.Ints(5, 50), nil, model.Ints(3, 30, 1, 10)},
+		{0, 0, nil, nil, model.Ints(1, 10, 3, 30, 5, 50)}, {0, 9, model.Ints(1, 10, 3, 30, 5, 50), nil, nil}, {1, 5, nil, model.Ints(5, 50), model.Ints(3, 30, 1, 10)},
+	} {
+		ahead, same, behind := model.Parted(c.by, l, sample.Num(c.k))
+		if !sample.SamePairs(ahead, c.ahead) || !sample.SamePairs(same, c.same) || !sample.SamePairs(behind, c.behind) {
+			t.Errorf("order %d, %d: %v, %v, %v", c.by, c.k, ahead, same, behind)
+		}
+	}
+}
+
+func TestBetween(t *testing.T) {
+	l := model.Ints(5, 50, 1, 10, 3, 30)
+	for _, c := range []struct {
+		from, to         int64
+		withFrom, withTo bool
+		want             []api.Pair
+	}{
+		{1, 5, true, true, model.Ints(1, 10, 3, 30, 5, 50)}, {1, 5, true, false, model.Ints(1, 10, 3, 30)}, {1, 5, false, true, model.Ints(3, 30, 5, 50)}, {1, 5, false, false, model.Ints(3, 30)},
+		{3, 3, true, true, model.Ints(3, 30)}, {3, 3, true, false, nil}, {3, 3, false, true, nil}, {3, 3, false, false, nil}, {5, 1, true, true, nil}, {2, 4, false, false, model.Ints(3, 30)},
+	} {
+		if got := model.Between(0, l, sample.Num(c.from), sample.Num(c.to), c.withFrom, c.withTo); !sample.SamePairs(got, c.want) {
+			t.Errorf("%d, %d: %v, want %v", c.from, c.to, got, c.want)
+		}
+	}
+}
+
+func TestWrongOfRanges(t *testing.T) {
+	l := model.Ints(1, 10, 2, 20, 4, 40)
+	m, _ := redblack.Of(1, l)
+	keys := sample.Numbers(6)
+	for _, c := range []struct {
+		by    int
+		plain []api.Pair
+		want  string
+	}{
+		{1, l, ""}, {1, []api.Pair{l[1], l[2], l[0]}, ""}, {0, l, "Back"}, {1, l[:2], "Back"}, {1, model.Ints(1, 10, 2, 21, 4, 40), "Back"},
+	} {
+		if wrong := model.WrongOfRanges(m, c.by, c.plain, keys); wrong != c.want {
+			t.Errorf("order %d, %v: %q, want %q", c.by, c.plain, wrong, c.want)
+		}
+	}
+	if wrong := model.WrongOfRanges(nil, 0, nil, keys); wrong != "" {
+		t.Errorf("nil: %q", wrong)
+	}
+}
+
+func TestWrongOfSortedSet(t *testing.T) {
+	l := sample.Numbers(3)
+	s, _ := sset.Of(1, l)
+	for _, c := range []struct {
+		by    int
+		plain []api.Value
+		want  string
+	}{
+		{1, l, ""}, {1, []api.Value{l[2], l[0], l[1]}, ""}, {0, l, "Order"}, {1, l[:2], "Len"}, {1, []api.Value{l[0], l[1], sample.Num(3)}, "Items"},
+	} {
+		if wrong := model.WrongOfSortedSet(s, c.by, c.plain); wrong != c.want {
+			t.Errorf("order %d, %v: %q, want %q", c.by, c.plain, wrong, c.want)
+		}
+	}
+	if wrong := model.WrongOfSortedSet(nil, 0, nil); wrong != "" {
+		t.Errorf("nil: %q", wrong)
 	}
 }

@@ -20,6 +20,21 @@ func InOrder(by int, l []api.Pair) []api.Pair {
 	return out
 }
 
+// Parted are pairs by an order of their keys, in three lists: those whose keys stand ahead of a key, the one that has it, if there is one, and those whose keys stand behind it.
+func Parted(by int, l []api.Pair, k api.Value) (ahead, same, behind []api.Pair) {
+	for _, p := range InOrder(by, l) {
+		switch c, _ := order.Compare(by, p.Key, k); {
+		case c < 0:
+			ahead = append(ahead, p)
+		case c > 0:
+			behind = append(behind, p)
+		default:
+			same = append(same, p)
+		}
+	}
+	return ahead, same, behind
+}
+
 // WrongOfSorted is the call by which a sorted map tells otherwise than pairs of unlike keys, and an order, ask for, or its height is none that it may have; "" if there is none.
 func WrongOfSorted(m *redblack.Map, by int, plain []api.Pair) string {
 	want := InOrder(by, plain)

@@ -47,7 +47,7 @@ func WrongOfSet(s *hset.Set, kind int, plain []api.Value) string {
 		return "All"
 	case !slices.Equal(s.Shape(), sample.Shape(kind, want)):
 		return "Shape"
-	case slices.ContainsFunc(want, lacking(s)):
+	case slices.ContainsFunc(want, lacking(s.Has)):
 		return "Has"
 	case !sameValue(value.Set(want))(s.Value()):
 		return "Value"
@@ -72,10 +72,10 @@ func got(get func(api.Value) (api.Value, bool, api.Errno)) func(p api.Pair, k ap
 	}
 }
 
-// lacking tells whether a set is without a member.
-func lacking(s *hset.Set) func(api.Value) bool {
+// lacking tells whether a set, by its call Has, is without a member.
+func lacking(has func(api.Value) (bool, api.Errno)) func(api.Value) bool {
 	return func(v api.Value) bool {
-		there, e := s.Has(v)
+		there, e := has(v)
 		return !there || e != api.OK
 	}
 }

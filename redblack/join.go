@@ -13,6 +13,15 @@ func join[T any](left *node[T], item T, right *node[T]) *node[T] {
 	return made(true, left, item, right)
 }
 
+// together is a tree of one tree's items, and another tree's items behind them.
+func together[T any](left, right *node[T]) *node[T] {
+	if left == nil {
+		return right
+	}
+	rest, last := left.cutLast()
+	return join(rest, last, right)
+}
+
 // hungRight is the left tree with an item and the right tree, which is black at its top, hung in at its right edge: there where as many black nodes are below. It has as many black nodes as the left tree; a red one at the top may have a red one to its right, but only if the left tree was red at its top.
 func hungRight[T any](left *node[T], item T, right *node[T]) *node[T] {
 	if !left.isRed() && left.measured().blacks == right.measured().blacks {
@@ -53,6 +62,23 @@ func (n *node[T]) split(at func(T) int) (ahead, behind *node[T]) {
 		return join(n.left, n.item, ahead), behind
 	}
 	return n.left, n.right
+}
+
+// cut are the trees of the first items, so many, and of all others.
+func (n *node[T]) cut(first int) (ahead, behind *node[T]) {
+	if first <= 0 {
+		return nil, n
+	}
+	if first >= n.measured().size {
+		return n, nil
+	}
+	left := n.left.measured().size
+	if first <= left {
+		ahead, behind = n.left.cut(first)
+		return ahead, join(behind, n.item, n.right)
+	}
+	ahead, behind = n.right.cut(first - left - 1)
+	return join(n.left, n.item, ahead), behind
 }
 
 // cutLast is the tree without its last item, and that one; there is one.

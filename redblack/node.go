@@ -84,12 +84,7 @@ func (n *node[T]) with(item T, at func(T) int) *node[T] {
 
 // without is the tree without an item.
 func (n *node[T]) without(at func(T) int) *node[T] {
-	ahead, behind := n.split(at)
-	if ahead == nil {
-		return behind
-	}
-	rest, last := ahead.cutLast()
-	return join(rest, last, behind)
+	return together(n.split(at))
 }
 
 // union is a tree of the items of two; of those that are the same the second one's.
@@ -102,6 +97,15 @@ func union[T any](a, b *node[T], compare func(a, b T) int) *node[T] {
 	}
 	ahead, behind := a.split(func(item T) int { return compare(b.item, item) })
 	return join(union(ahead, b.left, compare), b.item, union(behind, b.right, compare))
+}
+
+// less is a tree of the first one's items that are not in the second one.
+func less[T any](a, b *node[T], compare func(a, b T) int) *node[T] {
+	if a == nil || b == nil {
+		return a
+	}
+	ahead, behind := a.split(func(item T) int { return compare(b.item, item) })
+	return together(less(ahead, b.left, compare), less(behind, b.right, compare))
 }
 
 // all goes over the items in their order.

@@ -200,7 +200,51 @@ func TestNodesOfUnion(t *testing.T) {
 	}
 }
 
-// 14.5, 14.6: what Assoc, Dissoc and Union make keeps to the rules, is black at its top, and shares nodes with what it was made of.
+// 14.5: trees of many lengths are cut at each place, and the two parts put together again.
+func TestNodesOfCut(t *testing.T) {
+	s := sample.New(1)
+	for _, n := range []int{0, 1, 2, 3, 4, 5, 7, 8, 15, 16, 31, 33, 100, 300} {
+		for _, top := range []*node[int]{grown(numbers(0, n)), stepped(s, numbers(0, n)), stepped(s, numbers(0, n)).black()} {
+			for at := -1; at <= n+1; at++ {
+				ahead, behind := top.cut(at)
+				first := min(max(at, 0), n)
+				checkTree(t, ahead, numbers(0, first))
+				checkTree(t, behind, numbers(first, n))
+				checkTree(t, together(ahead, behind), numbers(0, n))
+				checkTree(t, top, numbers(0, n))
+			}
+		}
+	}
+}
+
+// 14.5: of two trees that meet, one of which lies within the other, and that do not.
+func TestNodesOfLess(t *testing.T) {
+	s := sample.New(2)
+	for range 500 {
+		from, most := s.Below(2)*s.Below(200), 1+s.Below(150)
+		var a, b *node[int]
+		for range s.Below(100) {
+			x := s.Below(most)
+			a = a.with(x, placed(x))
+		}
+		for range s.Below(100) {
+			x := from + s.Below(most)
+			b = b.with(x, placed(x))
+		}
+		var want []int
+		for x := range a.all() {
+			if b.find(placed(x)) == nil {
+				want = append(want, x)
+			}
+		}
+		was, other := slices.Collect(a.all()), slices.Collect(b.all())
+		checkTree(t, less(a, b, cmp.Compare[int]), want)
+		checkTree(t, a, was)
+		checkTree(t, b, other)
+	}
+}
+
+// 14.5, 14.6: what Assoc, Dissoc, Union and the calls for other layers make keeps to the rules, is black at its top, and shares nodes with what it was made of.
 func TestNodesOfMaps(t *testing.T) {
 	s := sample.New(1)
 	var pairs []api.Pair
@@ -214,7 +258,8 @@ func TestNodesOfMaps(t *testing.T) {
 			more, _ := m.Assoc(k, sample.Num(1))
 			less, _ := more.Dissoc(sample.Num(int64(s.Below(600))))
 			both, _ := Union(less, more)
-			for _, made := range []*Map{more, less, both} {
+			cut := both.Slice(s.Below(600), s.Below(600))
+			for _, made := range []*Map{more, less, both, cut, Less(both, cut), Less(cut, less)} {
 				if fault := faultOf(made.top); fault != "" || made.top.isRed() {
 					t.Fatalf("order %d: %s", order, fault)
 				}
@@ -239,6 +284,8 @@ func TestNodesAreShared(t *testing.T) {
 		"Dissoc": func() { m.Dissoc(k) },
 		"Union":  func() { Union(m, few) },
 		"Turn":   func() { m.Turn(0) },
+		"Slice":  func() { m.Slice(n/3, n/2) },
+		"Less":   func() { Less(m, few) },
 	} {
 		if times := testing.AllocsPerRun(5, call); times > 500 {
 			t.Errorf("%s: memory was taken %v times", name, times)

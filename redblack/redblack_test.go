@@ -2,7 +2,6 @@ package redblack_test
 
 import (
 	"fmt"
-	"math"
 	"slices"
 	"testing"
 
@@ -15,23 +14,15 @@ import (
 	"spinney/value"
 )
 
-func none() api.Value                   { return api.Value{} }
-func num(n int64) api.Value             { return sample.Num(n) }
-func str(s string) api.Value            { return sample.Str(s) }
-func list(items ...api.Value) api.Value { return sample.List(items...) }
-func set(items ...api.Value) api.Value  { return sample.Set(items...) }
-func dict(items ...api.Value) api.Value { return sample.Map(items...) }
-func pair(k, v api.Value) api.Pair      { return api.Pair{Key: k, Val: v} }
-func ints(l ...int64) []api.Pair        { return model.Ints(l...) }
-
-// valued are keys with values that differ from key to key.
-func valued(keys []api.Value) []api.Pair {
-	var out []api.Pair
-	for i, k := range keys {
-		out = append(out, pair(k, list(num(int64(i)), str("v"))))
-	}
-	return out
-}
+func none() api.Value                    { return api.Value{} }
+func num(n int64) api.Value              { return sample.Num(n) }
+func str(s string) api.Value             { return sample.Str(s) }
+func list(items ...api.Value) api.Value  { return sample.List(items...) }
+func dict(items ...api.Value) api.Value  { return sample.Map(items...) }
+func pair(k, v api.Value) api.Pair       { return api.Pair{Key: k, Val: v} }
+func ints(l ...int64) []api.Pair         { return model.Ints(l...) }
+func valued(keys []api.Value) []api.Pair { return model.Valued(keys) }
+func lines() [][]api.Value               { return sample.Lines() }
 
 // reversed is a list the other way round.
 func reversed[T any](l []T) []T {
@@ -97,20 +88,6 @@ func checkFlat(t *testing.T, m *redblack.Map) {
 	}
 	if m.Height() < h || m.Height() > 2*h || !model.FlatFits(m.Len(), m.Height()) {
 		t.Fatalf("%d keys, %d high", m.Len(), m.Height())
-	}
-}
-
-// lines are for each order keys that rise by it, worked out by hand.
-func lines() [][]api.Value {
-	mixed := []api.Value{none(), sample.Bool(0), sample.Bool(1), num(math.MinInt64), num(-1), num(0), num(math.MaxInt64), str(""), str("a"), str("aa"), str("b"), str("é"), list(), list(num(1)), list(num(2)), set(), set(num(1)), dict(), dict(num(1), num(2))}
-	return [][]api.Value{
-		mixed,
-		reversed(mixed),
-		// Their hashes are 0, 0, 0, 1231, 1237, 1392991556, 1455541201, 1651860712, 2277397642, 3323962100, 4279838538, 4279838538.
-		{none(), num(0), str(""), sample.Bool(1), sample.Bool(0), num(1), str("a"), num(-1), list(), num(2), set(), dict()},
-		{none(), sample.Bool(1), num(math.MinInt64), num(math.MaxInt64), str("zzzz"), list(), dict(), list(none()), list(list()), set(num(1)), list(num(1), num(1)), set(num(1), num(2)), list(none(), none(), none())},
-		{num(-5), num(0), num(3), str(""), str("b"), str("é"), str("𝄞"), str("aa"), str("éa"), str("aaa"), list(str("aa")), list(str("b"))},
-		{none(), num(0), num(-1), num(1), num(-2), num(2), num(-math.MaxInt64), num(math.MaxInt64), num(math.MinInt64), str("aa"), str("b"), list(num(-2)), list(num(1))},
 	}
 }
 

@@ -6,6 +6,7 @@ import (
 	"testing"
 
 	"spinney/api"
+	"spinney/order"
 	"spinney/sample"
 	"spinney/value"
 )
@@ -169,6 +170,21 @@ func TestTries(t *testing.T) {
 		}
 		if got := sample.Shape(c.kind, turned); !slices.Equal(got, c.shape) {
 			t.Errorf("kind %d: %v, want %v", c.kind, got, c.shape)
+		}
+	}
+}
+
+// Chapter 6: each line rises by its order, and there is one for each.
+func TestLines(t *testing.T) {
+	lines := sample.Lines()
+	if len(lines) != api.MaxOrder+1 {
+		t.Fatalf("%d lines", len(lines))
+	}
+	for by, line := range lines {
+		for i := 1; i < len(line); i++ {
+			if c, e := order.Compare(by, line[i-1], line[i]); c >= 0 || e != api.OK {
+				t.Errorf("order %d: %v, %v: %d, %v", by, line[i-1], line[i], c, e)
+			}
 		}
 	}
 }

@@ -5,6 +5,7 @@ import (
 
 	"spinney/api"
 	"spinney/champ"
+	"spinney/finger"
 	"spinney/hset"
 	"spinney/model"
 	"spinney/redblack"
@@ -231,5 +232,60 @@ func TestWrongOfSortedSet(t *testing.T) {
 	}
 	if wrong := model.WrongOfSortedSet(nil, 0, nil); wrong != "" {
 		t.Errorf("nil: %q", wrong)
+	}
+}
+
+func TestWrongOfDeque(t *testing.T) {
+	l := sample.Numbers(3)
+	d, _ := finger.Of(l)
+	for _, c := range []struct {
+		plain []api.Value
+		want  string
+	}{
+		{l, ""}, {nil, "Len"}, {l[:2], "Len"}, {sample.Numbers(4), "Len"}, {[]api.Value{l[0], l[2], l[1]}, "Items"},
+	} {
+		if wrong := model.WrongOfDeque(d, c.plain); wrong != c.want {
+			t.Errorf("%v: %q, want %q", c.plain, wrong, c.want)
+		}
+	}
+	if wrong := model.WrongOfDeque(nil, nil); wrong != "" {
+		t.Errorf("nil: %q", wrong)
+	}
+}
+
+// The most levels are log2(n) and 2, rounded down: of 3 items 3.58, of 1000 items 11.97. So many as 8 items fit into one level, 8 and 24 into two.
+func TestDequeFits(t *testing.T) {
+	for _, c := range []struct {
+		n, least, most int
+	}{
+		{0, 0, 0}, {1, 1, 2}, {2, 1, 3}, {3, 1, 3}, {4, 1, 4}, {7, 1, 4}, {8, 1, 5}, {9, 2, 5}, {32, 2, 7}, {33, 3, 7}, {1000, 6, 11}, {1023, 6, 11}, {1024, 6, 12}, {65535, 9, 17}, {65536, 9, 18},
+	} {
+		for h := -1; h < 40; h++ {
+			if got, want := model.DequeFits(c.n, h), c.least <= h && h <= c.most; got != want {
+				t.Errorf("%d items, %d levels: %v", c.n, h, got)
+			}
+		}
+	}
+}
+
+func TestWeights(t *testing.T) {
+	num := sample.Num
+	l := []api.Value{num(2), num(0), num(3), num(-1), num(api.MaxLen), num(api.MaxLen + 1), sample.Str("aa"), {}}
+	if w := model.Weight(l); w != 5+1+api.MaxLen+3 || model.Weight(nil) != 0 {
+		t.Errorf("Weight: %d", w)
+	}
+	for _, c := range []struct {
+		w     int64
+		at    int
+		there bool
+	}{
+		{0, 0, true}, {1, 0, true}, {2, 2, true}, {4, 2, true}, {5, 3, true}, {6, 4, true}, {5 + api.MaxLen, 4, true}, {6 + api.MaxLen, 5, true}, {8 + api.MaxLen, 7, true}, {9 + api.MaxLen, 8, false}, {1 << 62, 8, false},
+	} {
+		if at, there := model.Above(l, c.w); at != c.at || there != c.there {
+			t.Errorf("Above %d: %d, %v", c.w, at, there)
+		}
+	}
+	if at, there := model.Above(nil, 0); at != 0 || there {
+		t.Errorf("Above of none: %d, %v", at, there)
 	}
 }

@@ -11,13 +11,13 @@ import (
 const blockFull = 256
 
 // blocks are the members of a node at the bottom, in natural order; there is one at least, and none is empty. They are blocks lest each change copy all members, however many have one hash.
-type blocks [][]*member
+type blocks[V any] [][]*member[V]
 
-func blocksOf(l []*member) blocks {
+func blocksOf[V any](l []*member[V]) blocks[V] {
 	return slices.Collect(slices.Chunk(l, blockFull/2))
 }
 
-func (b blocks) size() int {
+func (b blocks[V]) size() int {
 	n := 0
 	for _, block := range b {
 		n += len(block)
@@ -26,16 +26,16 @@ func (b blocks) size() int {
 }
 
 // search is in which block, and where in it, a key stands, or would stand.
-func (b blocks) search(k api.Value) (block, at int, there bool) {
-	first, _ := slices.BinarySearchFunc(b, k, func(l []*member, k api.Value) int { return compareKey(l[len(l)-1], k) })
+func (b blocks[V]) search(k api.Value) (block, at int, there bool) {
+	first, _ := slices.BinarySearchFunc(b, k, func(l []*member[V], k api.Value) int { return compareKey(l[len(l)-1], k) })
 	block = min(first, len(b)-1)
-	at, there = slices.BinarySearchFunc(b[block], k, compareKey)
+	at, there = slices.BinarySearchFunc(b[block], k, compareKey[V])
 	return block, at, there
 }
 
-func compareKey(m *member, k api.Value) int { return value.Compare(m.key, k) }
+func compareKey[V any](m *member[V], k api.Value) int { return value.Compare(m.key, k) }
 
-func (b blocks) find(k api.Value) *member {
+func (b blocks[V]) find(k api.Value) *member[V] {
 	block, at, there := b.search(k)
 	if !there {
 		return nil
@@ -43,7 +43,7 @@ func (b blocks) find(k api.Value) *member {
 	return b[block][at]
 }
 
-func (b blocks) with(m *member) blocks {
+func (b blocks[V]) with(m *member[V]) blocks[V] {
 	block, at, there := b.search(m.key)
 	end := at
 	if there {
@@ -52,13 +52,13 @@ func (b blocks) with(m *member) blocks {
 	return b.changed(block, spliced(b[block], at, end, m))
 }
 
-func (b blocks) without(m *member) blocks {
+func (b blocks[V]) without(m *member[V]) blocks[V] {
 	block, at, _ := b.search(m.key)
 	return b.changed(block, spliced(b[block], at, at+1))
 }
 
 // changed has other members in a block; the block goes if it has none, and is cut in two if it is full.
-func (b blocks) changed(block int, l []*member) blocks {
+func (b blocks[V]) changed(block int, l []*member[V]) blocks[V] {
 	switch len(l) {
 	case 0:
 		return spliced(b, block, block+1)
@@ -69,7 +69,7 @@ func (b blocks) changed(block int, l []*member) blocks {
 }
 
 // each tells whether yield wants to go on.
-func (b blocks) each(yield func(*member) bool) bool {
+func (b blocks[V]) each(yield func(*member[V]) bool) bool {
 	for _, block := range b {
 		for _, m := range block {
 			if !yield(m) {

@@ -8,6 +8,8 @@ import (
 	"spinney/finger"
 	"spinney/hset"
 	"spinney/model"
+	"spinney/multi"
+	"spinney/pairing"
 	"spinney/redblack"
 	"spinney/rrb"
 	"spinney/sample"
@@ -287,5 +289,72 @@ func TestWeights(t *testing.T) {
 	}
 	if at, there := model.Above(nil, 0); at != 0 || there {
 		t.Errorf("Above of none: %d, %v", at, there)
+	}
+}
+
+func TestWrongOfQueue(t *testing.T) {
+	l := []api.Value{sample.Num(1), sample.Num(0), sample.Num(1)}
+	q, _ := pairing.Of(1, l)
+	for _, c := range []struct {
+		by    int
+		plain []api.Value
+		want  string
+	}{
+		{1, l, ""}, {1, []api.Value{l[1], l[0], l[2]}, ""}, {0, l, "Order"}, {1, nil, "Len"}, {1, l[:2], "Len"}, {1, []api.Value{l[0], l[1], l[1]}, "Sorted"},
+	} {
+		if wrong := model.WrongOfQueue(q, c.by, c.plain); wrong != c.want {
+			t.Errorf("order %d, %v: %q, want %q", c.by, c.plain, wrong, c.want)
+		}
+	}
+	if wrong := model.WrongOfQueue(nil, 0, nil); wrong != "" {
+		t.Errorf("nil: %q", wrong)
+	}
+}
+
+func TestPairsOfSeveral(t *testing.T) {
+	num := sample.Num
+	l := model.Ints(1, 10, 1, 20, 2, 10)
+	for _, c := range []struct{ got, want []api.Pair }{
+		{model.Add(l, num(2), num(20)), model.Ints(1, 10, 1, 20, 2, 10, 2, 20)},
+		{model.Add(l, num(1), num(10)), model.Ints(1, 20, 2, 10, 1, 10)},
+		{model.AddAll(l, model.Ints(1, 10, 3, 5)), model.Ints(1, 20, 2, 10, 1, 10, 3, 5)},
+		{model.AddAll(nil, model.Ints(1, 10, 1, 10)), model.Ints(1, 10)},
+		{model.Remove(l, num(1), num(20)), model.Ints(1, 10, 2, 10)},
+		{model.Remove(l, num(2), num(20)), l},
+		{model.RemoveKey(l, num(1)), model.Ints(2, 10)},
+		{model.RemoveKey(l, num(10)), l},
+		{model.Turned(l), model.Ints(10, 1, 20, 1, 10, 2)},
+		{model.InPairOrder(32, model.Ints(2, 10, 1, 20, 1, 10)), l},
+		// Under kind 39 the hash of 2 comes ahead of that of 1.
+		{model.InPairOrder(39, model.Ints(1, 1, 1, 2, 2, 1, 2, 2)), model.Ints(2, 2, 2, 1, 1, 2, 1, 1)},
+	} {
+		if !sample.SamePairs(c.got, c.want) {
+			t.Errorf("%v, want %v", c.got, c.want)
+		}
+	}
+	if s := model.ByKeys(l); len(s) != 2 || s[0].Key.Num != 1 || len(s[0].Values) != 2 || s[0].Values[1].Num != 20 || s[1].Key.Num != 2 || len(s[1].Values) != 1 || model.ByKeys(nil) != nil {
+		t.Errorf("ByKeys: %v", s)
+	}
+	if !sample.SamePairs(l, model.Ints(1, 10, 1, 20, 2, 10)) {
+		t.Errorf("changed: %v", l)
+	}
+}
+
+func TestWrongOfMulti(t *testing.T) {
+	l := model.Ints(1, 10, 1, 20, 2, 10)
+	m, _ := multi.Of(5, l)
+	for _, c := range []struct {
+		kind  int
+		plain []api.Pair
+		want  string
+	}{
+		{5, l, ""}, {5, []api.Pair{l[1], l[2], l[0]}, ""}, {0, l, "Kind"}, {5, l[:2], "Len"}, {5, model.Ints(1, 10, 1, 21, 2, 10), "Pairs"}, {5, model.Ints(1, 10, 1, 20, 3, 10), "Pairs"},
+	} {
+		if wrong := model.WrongOfMulti(m, c.kind, c.plain); wrong != c.want {
+			t.Errorf("kind %d, %v: %q, want %q", c.kind, c.plain, wrong, c.want)
+		}
+	}
+	if wrong := model.WrongOfMulti(nil, 0, nil); wrong != "" {
+		t.Errorf("nil: %q", wrong)
 	}
 }

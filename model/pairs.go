@@ -1,4 +1,4 @@
-// Package model is no layer: for the project's tests it tells what plain lists of pairs, of members and of items would tell (P2), and in what a hash map, a hash set, a vector, a sorted map or a sorted set tells otherwise.
+// Package model is no layer: for the project's tests it tells what plain lists of pairs, of members and of items would tell (P2), and in what a collection tells otherwise.
 package model
 
 import (

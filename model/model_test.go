@@ -4,6 +4,7 @@ import (
 	"testing"
 
 	"spinney/api"
+	"spinney/bimap"
 	"spinney/champ"
 	"spinney/finger"
 	"spinney/hset"
@@ -356,5 +357,54 @@ func TestWrongOfMulti(t *testing.T) {
 	}
 	if wrong := model.WrongOfMulti(nil, 0, nil); wrong != "" {
 		t.Errorf("nil: %q", wrong)
+	}
+}
+
+func TestPairsBothWays(t *testing.T) {
+	num := sample.Num
+	l := model.Ints(1, 10, 2, 20, 3, 30)
+	for _, c := range []struct{ got, want []api.Pair }{
+		{model.PutBoth(l, num(4), num(40)), model.Ints(1, 10, 2, 20, 3, 30, 4, 40)},
+		{model.PutBoth(l, num(10), num(1)), model.Ints(1, 10, 2, 20, 3, 30, 10, 1)},
+		{model.PutBoth(l, num(1), num(40)), model.Ints(2, 20, 3, 30, 1, 40)},
+		{model.PutBoth(l, num(4), num(10)), model.Ints(2, 20, 3, 30, 4, 10)},
+		{model.PutBoth(l, num(1), num(20)), model.Ints(3, 30, 1, 20)},
+		{model.PutBoth(l, num(1), num(10)), model.Ints(2, 20, 3, 30, 1, 10)},
+		{model.PutBoth(nil, num(1), num(10)), l[:1]},
+		{model.PutAllBoth(l, model.Ints(4, 10, 4, 20)), model.Ints(3, 30, 4, 20)},
+		{model.PutAllBoth(nil, l), l},
+		{model.RemoveValue(l, num(20)), model.Ints(1, 10, 3, 30)},
+		{model.RemoveValue(l, num(2)), l},
+		{model.RemoveValue(nil, num(2)), nil},
+	} {
+		if !sample.SamePairs(c.got, c.want) {
+			t.Errorf("%v, want %v", c.got, c.want)
+		}
+	}
+	if !sample.SamePairs(l, model.Ints(1, 10, 2, 20, 3, 30)) {
+		t.Errorf("changed: %v", l)
+	}
+}
+
+func TestWrongOfBimap(t *testing.T) {
+	// Under kind 39 the hash of 2 comes ahead of that of 1: as keys, and as values.
+	m, _ := bimap.New(39)
+	m, _ = m.Put(sample.Num(1), sample.Num(2))
+	m, _ = m.Put(sample.Num(2), sample.Num(1))
+	one, _ := m.Delete(sample.Num(2))
+	ten, _ := m.Put(sample.Num(10), sample.Num(1))
+	for _, c := range []struct {
+		m     *bimap.Map
+		kind  int
+		plain []api.Pair
+		want  string
+	}{
+		{m, 39, model.Ints(1, 2, 2, 1), ""}, {m, 39, model.Ints(2, 1, 1, 2), ""}, {m, 32, model.Ints(1, 2, 2, 1), "Pairs"}, {m, 39, model.Ints(1, 2), "Len"}, {m, 39, nil, "Len"}, {m, 39, model.Ints(1, 2, 2, 3), "Pairs"},
+		{one, 39, model.Ints(1, 2), ""}, {one, 39, model.Ints(1, 3), "Pairs"}, {one, 39, model.Ints(2, 1), "Pairs"}, {nil, 0, nil, ""}, {nil, 0, model.Ints(1, 2), "Len"},
+		{ten, 39, model.Ints(1, 2, 10, 1), ""},
+	} {
+		if wrong := model.WrongOfBimap(c.m, c.kind, c.plain); wrong != c.want {
+			t.Errorf("kind %d, %v: %q, want %q", c.kind, c.plain, wrong, c.want)
+		}
 	}
 }

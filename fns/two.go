@@ -4,6 +4,7 @@ import (
 	"slices"
 
 	"spinney/api"
+	"spinney/rule"
 	"spinney/value"
 )
 
@@ -56,8 +57,8 @@ func conj(a, b api.Value) api.Value {
 		items = a.Items
 	}
 	// Concat, since an append might write into the room behind a's items.
-	longer, e := value.List(slices.Concat(items, []api.Value{b}))
-	if e != api.OK {
+	longer := api.Value{Kind: api.VList, Items: slices.Concat(items, []api.Value{b})}
+	if !rule.Fits(longer) {
 		return a
 	}
 	return longer

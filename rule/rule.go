@@ -1,4 +1,4 @@
-// Package rule is no layer: it holds what the document's rules ask of many layers alike (R1's looks at arguments, R3's new memory), and how the last of several that are the same is taken.
+// Package rule is no layer: it holds what the document's rules ask of many layers alike (R1's looks at arguments, R3's new memory), what chapter 1's limits leave room for, and how the last of several that are the same is taken.
 package rule
 
 import (
@@ -53,6 +53,26 @@ func LastOfEach[T any](l []T, compare func(a, b T) int) []T {
 		out = append(out, member)
 	}
 	return out
+}
+
+// Fits tells whether a value keeps to MaxParts and MaxDeep. What is put together of right parts in their one form is right, if it does.
+func Fits(v api.Value) bool {
+	left := api.MaxParts
+	return fitsWithin(v, api.MaxDeep, &left)
+}
+
+// fitsWithin gives up at the first part too many, so that a value far beyond the limits costs no more than one within them.
+func fitsWithin(v api.Value, levels int, left *int) bool {
+	if levels < 0 || *left == 0 {
+		return false
+	}
+	*left--
+	for _, item := range v.Items {
+		if !fitsWithin(item, levels-1, left) {
+			return false
+		}
+	}
+	return true
 }
 
 // Copy is the same value in memory of its own, down to its last part.

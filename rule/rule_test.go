@@ -124,3 +124,23 @@ func TestCopyText(t *testing.T) {
 		t.Errorf("the text is not new memory: %q", v.Text)
 	}
 }
+
+// Chapter 1: at most MaxParts parts, at most MaxDeep deep; what is far beyond costs no more.
+func TestFits(t *testing.T) {
+	wide := sample.List(sample.Numbers(api.MaxParts)...)
+	great := sample.Num(1)
+	for range api.MaxDeep {
+		great = sample.List(slices.Repeat([]api.Value{great}, 1000)...)
+	}
+	for i, c := range []struct {
+		v    api.Value
+		want bool
+	}{
+		{api.Value{}, true}, {sample.List(), true}, {sample.Bool(7), true}, {sample.Nested(api.MaxDeep, sample.Num(1)), true}, {sample.Nested(api.MaxDeep, sample.List()), true}, {sample.Nested(api.MaxDeep+1, sample.Num(1)), false}, {sample.Nested(1<<16, sample.Num(1)), false},
+		{sample.List(wide.Items[1:]...), true}, {wide, false}, {sample.List(sample.List(wide.Items[:500]...), sample.Map(wide.Items[:521]...)), true}, {sample.List(sample.List(wide.Items[:500]...), sample.Map(wide.Items[:522]...)), false}, {great, false},
+	} {
+		if rule.Fits(c.v) != c.want {
+			t.Errorf("%d: Fits: %v", i, !c.want)
+		}
+	}
+}

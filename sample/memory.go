@@ -111,3 +111,25 @@ func SpoilPairs(l []api.Pair) {
 		l[i] = api.Pair{Key: Str(spoilt), Val: Str(spoilt)}
 	}
 }
+
+// Apart tells whether no two of some lists, those within them and the spare room of all counted, share memory.
+func Apart(lists ...[]api.Value) bool {
+	seen := map[*api.Value]int{}
+	for _, l := range lists {
+		if !apart(l, seen) {
+			return false
+		}
+	}
+	return true
+}
+
+func apart(l []api.Value, seen map[*api.Value]int) bool {
+	l = l[:cap(l)]
+	for i := range l {
+		seen[&l[i]]++
+		if seen[&l[i]] > 1 || !apart(l[i].Items, seen) {
+			return false
+		}
+	}
+	return true
+}

@@ -188,3 +188,22 @@ func TestLines(t *testing.T) {
 		}
 	}
 }
+
+func TestApart(t *testing.T) {
+	fresh := func() []api.Value {
+		return sample.RoomyAll([]api.Value{sample.List(sample.Num(1), sample.Set(sample.Num(2))), sample.Str("a")})
+	}
+	a, b := fresh(), fresh()
+	if !sample.Apart() || !sample.Apart(nil, []api.Value{}) || !sample.Apart(a, nil, b) {
+		t.Errorf("lists that share nothing")
+	}
+	inner := a[0].Items
+	for i, l := range [][]api.Value{a, inner, a[:0], a[1:], inner[1].Items, inner[:0], inner[2:], {sample.List(inner[1].Items...)}, {sample.Num(1), a[0]}} {
+		if sample.Apart(a, b, l) || sample.Apart(l, b, a) {
+			t.Errorf("%d: a list that shares memory", i)
+		}
+	}
+	if sample.Apart([]api.Value{a[0], a[0]}) {
+		t.Errorf("two lists within one")
+	}
+}

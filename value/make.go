@@ -31,7 +31,7 @@ func compareKeys(a, b api.Pair) int { return Compare(a.Key, b.Key) }
 // made is a new value of right items in their one form. The limits are asked ahead of copying, since items may be far too many.
 func made(kind int, items []api.Value) (api.Value, api.Errno) {
 	v := api.Value{Kind: kind, Items: items}
-	if !fits(v) {
+	if !rule.Fits(v) {
 		return api.Value{}, api.ErrLong
 	}
 	return rule.Copy(v), api.OK

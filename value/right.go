@@ -7,26 +7,6 @@ import (
 	"spinney/api"
 )
 
-// fits tells whether a value keeps to MaxParts and MaxDeep.
-func fits(v api.Value) bool {
-	left := api.MaxParts
-	return fitsWithin(v, api.MaxDeep, &left)
-}
-
-// fitsWithin gives up at the first part too many, so that a value far beyond the limits costs no more than one within them.
-func fitsWithin(v api.Value, levels int, left *int) bool {
-	if levels < 0 || *left == 0 {
-		return false
-	}
-	*left--
-	for _, item := range v.Items {
-		if !fitsWithin(item, levels-1, left) {
-			return false
-		}
-	}
-	return true
-}
-
 // rightParts tells whether each part of a value that fits is right.
 func rightParts(v api.Value) bool {
 	for _, item := range v.Items {

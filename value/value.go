@@ -11,7 +11,7 @@ import (
 
 // Check tells whether a value is right.
 func Check(v api.Value) api.Errno {
-	if fits(v) && rightParts(v) {
+	if rule.Fits(v) && rightParts(v) {
 		return api.OK
 	}
 	return api.ErrValue

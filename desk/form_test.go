@@ -1,6 +1,7 @@
 package desk_test
 
 import (
+	"slices"
 	"strings"
 	"testing"
 
@@ -31,7 +32,7 @@ func TestArguments(t *testing.T) {
 			fewer := strings.Join(words[:n], " ")
 			refuses(t, fewer, 1, api.ErrForm)
 			refuses(t, fewer+" ", 1, api.ErrForm)
-			refuses(t, fewer+"  "+strings.Join(words[n:], " "), 1, api.ErrForm)
+			refuses(t, " "+fewer+"   ", 1, api.ErrForm)
 			refuses(t, fewer+"\t"+strings.Join(words[n:], " "), 1, api.ErrForm)
 		}
 		if valued {
@@ -41,18 +42,69 @@ func TestArguments(t *testing.T) {
 			tells(t, c+"   ", "wrong 21 2")
 			continue
 		}
-		for _, more := range []string{" ", "  ", " 0", " ;", ";", " ; so", " nil", "\r", "\t", "\x00"} {
+		for _, more := range []string{" 0", "  0", " 0 ", " ;", "  ;", ";", " ; so", " nil", "\r", " \r", "\t", " \t", "\t ", "\x00", "\u00a0"} {
 			refuses(t, c+more, 1, api.ErrForm)
 		}
 	}
 }
 
+// spaced are all lines of these words with one of the gaps ahead of each.
+func spaced(words, gaps []string) []string {
+	out := []string{""}
+	for i, w := range words {
+		var longer []string
+		for _, line := range out {
+			for _, gap := range gaps {
+				if gap == "" && i > 0 {
+					gap = " "
+				}
+				longer = append(longer, line+gap+w)
+			}
+		}
+		out = longer
+	}
+	return out
+}
+
+// A line's words stand between blanks, however many there are; behind the last argument of a command without a value blanks are nothing.
+func TestBlanks(t *testing.T) {
+	for c, valued := range bare() {
+		want := run(t, c)
+		wanted, _, _ := desk.Records(c)
+		ends := []string{"", " ", "  ", "     "}
+		if valued {
+			ends = []string{"", " "}
+		}
+		for _, line := range spaced(strings.Split(c, " "), []string{"", " ", "  ", "   "}) {
+			for _, end := range ends {
+				got, at, e := desk.Run(line + end)
+				records, alsoAt, also := desk.Records(line + end)
+				if got != want || at != 0 || e != api.OK || !slices.EqualFunc(records, wanted, sameRecord) || alsoAt != 0 || also != api.OK {
+					t.Errorf("%q: %q, %d, %v, %v, %d, %v", line+end, got, at, e, records, alsoAt, also)
+				}
+			}
+		}
+	}
+	tells(t, lines("new  vec 0", "add  0 5", " add 1  6", "tell 2 "), "handle 0", "handle 1", "handle 2", "[5 6]")
+	tells(t, lines("new sorts 0", "new map 2", "new map 2", "new deque 0", "new vec 2 "), "handle 0", "handle 1", "handle 2", "handle 3", "error 4")
+	tells(t, "seq 8"+strings.Repeat(" ", 5000), "error 270")
+}
+
+// Blanks ahead of a command with a value, and between its words, do not move the places of what is wrong with its value; those behind do, but one.
+func TestBlanksAheadOfAValue(t *testing.T) {
+	tells(t, lines(" print 5", "  print  5", "print   [", "   print [", "   print   ["), "5", "5", "wrong 21 3", "wrong 21 1", "wrong 21 3")
+	tells(t, lines("add 0   [", "add   0 [", "   add 0 [", "  code   0 1", " at [1 [2]]"), "wrong 21 3", "wrong 21 1", "wrong 21 1", "1392991556", "none")
+}
+
 // Names that are none.
 func TestNames(t *testing.T) {
-	for c := range bare() {
+	for c, valued := range bare() {
 		name, rest, _ := strings.Cut(c, " ")
-		for _, other := range []string{" " + name, "\t" + name, name + "s", name + "\t", name + ",", strings.ToUpper(name), name[:len(name)-1], name + ";", "#" + name} {
-			refuses(t, other+" "+rest+" 1", 1, api.ErrForm)
+		if valued {
+			rest += " 1"
+		}
+		for _, other := range []string{"\t" + name, " \t" + name, "\u00a0" + name, " ; " + name, " ;" + name, name + "s", name + "\t", name + ",", strings.ToUpper(name), name[:len(name)-1], name + ";", "#" + name} {
+			refuses(t, other+" "+rest, 1, api.ErrForm)
 		}
 	}
 	for _, line := range []string{" ", "  ", "\t", "\r", " ; so", "\x00", "\xff", "é", "5", "nil", "[1]", "handle 0", "ok", "HMap", "op 1", "drop 0", "full", "none"} {

@@ -56,7 +56,7 @@ func commandOf(line string, table map[string]row) (command, bool) {
 	c := command{row: r}
 	for _, kind := range r.args {
 		var arg string
-		arg, behind = word(strings.TrimPrefix(behind, " "))
+		arg, behind = word(behind)
 		n, ok := argument(kind, arg)
 		if !ok {
 			return command{}, false
@@ -64,14 +64,19 @@ func commandOf(line string, table map[string]row) (command, bool) {
 		c.args = append(c.args, n)
 	}
 	if !r.valued {
-		return c, behind == ""
+		return c, pastBlanks(behind) == ""
 	}
+	// One blank alone is none of the value's, since the places of what is wrong with it count from there.
 	c.value = strings.TrimPrefix(behind, " ")
 	return c, true
 }
 
-// word is what stands ahead of a text's first blank, and what is behind it, from that blank on.
+// pastBlanks is a text from the first byte on that is no blank.
+func pastBlanks(s string) string { return strings.TrimLeft(s, " ") }
+
+// word is a text's first word, and what is behind it, from the blank on that ends it. (A text of blanks alone has an empty one, which says nothing.)
 func word(s string) (string, string) {
+	s = pastBlanks(s)
 	at := strings.IndexByte(s, ' ')
 	if at < 0 {
 		return s, ""
